@@ -12,6 +12,7 @@ import (
 	"driftnet/labels"
 	"driftnet/quote"
 	"driftnet/rat"
+	"driftnet/sample"
 	"driftnet/store"
 )
 
@@ -231,52 +232,13 @@ func TestOrder(t *testing.T) {
 	}
 }
 
-// noise returns a random query over the entries that pushes makes.
-func noise(random *rand.Rand) string {
-	pick := func(l ...string) string { return l[random.Intn(len(l))] }
-	selector := pick(`{a="1"}`, `{a=~".+"}`, `{a!="2"}`, `{b=""}`, `{a=~"1|3",b!~"x"}`)
-	filters := pick("", "", ` |= "n=1"`, ` != "q"`, " | logfmt", " | logfmt | n > 2", ` | logfmt | line_format "{{.n}}"`, " | json", ` | pattern "n=<p> <_>"`, ` | regexp "n=(?P<r>[0-9])"`, " | logfmt | drop n")
-	over := "[" + pick("1ms", "3ms", "10ms", "25ms") + "]" + pick("", "", " offset 2ms")
-	counted := pick("count_over_time", "rate", "bytes_over_time", "bytes_rate", "absent_over_time") + "(" + selector + filters + over + ")"
-	number := pick("sum_over_time(", "avg_over_time(", "min_over_time(", "max_over_time(", "first_over_time(", "last_over_time(", "quantile_over_time(0.3, ") + selector + " | logfmt | unwrap n" + over + ")"
-	one := pick(counted, number)
-	switch random.Intn(8) {
-	case 0:
-		return selector + filters
-	case 1, 2:
-		return one
-	case 3:
-		return pick("sum", "avg", "min", "max", "count") + pick("", " by (a)", " without (a)") + "(" + one + ")"
-	case 7:
-		return pick("topk", "bottomk") + pick("", " by (a)", " without (a)") + "(" + pick("1", "2") + ", " + one + ")"
-	case 4:
-		return pick("2", "1 / 0", "-1") + pick(" + ", " * ", " < bool ") + "3"
-	}
-	return pick(one, "2") + pick(" + ", " / ", " > ", " == bool ") + pick(counted, number)
-}
-
-func pushes(random *rand.Rand) []api.Push {
-	var l []api.Push
-	last := map[string]int{}
-	for range 60 {
-		a := strconv.Itoa(1 + random.Intn(4))
-		set := of("a", a)
-		if random.Intn(3) == 0 {
-			set = append(set, api.Label{Name: "b", Value: "y"})
-		}
-		at := last[labels.Key(set)] + random.Intn(3)
-		last[labels.Key(set)] = at
-		l = append(l, push(set, entry(at, []string{"n=1 m=2", "n=2", "n=3s", "q", `{"n":5}`, "n=0.5"}[random.Intn(6)])))
-	}
-	return l
-}
-
 // TestLaws covers P29.5 to P29.8 on random entries and queries.
 func TestLaws(t *testing.T) {
 	random := rand.New(rand.NewSource(30))
+	pick := sample.Pick(random.Intn)
 	answered := 0
 	for range 40 {
-		l := pushes(random)
+		l := pick.Pushes(60)
 		m := fill(t, l...)
 		byStream := slices.Clone(l)
 		slices.SortStableFunc(byStream, func(a, b api.Push) int { return labels.Compare(b.Labels, a.Labels) })
@@ -287,7 +249,7 @@ func TestLaws(t *testing.T) {
 			shifted.Push(push(p.Labels, entry(p.List[0].At+shift, p.List[0].Line)))
 		}
 		for range 60 {
-			a := ask(noise(random), random.Intn(20), 20+random.Intn(20), 1+random.Intn(7), 1000)
+			a := ask(pick.Query(), random.Intn(20), 20+random.Intn(20), 1+random.Intn(7), 1000)
 			got := m.Ask(a)
 			if got.Err == api.OK {
 				answered++
@@ -354,8 +316,9 @@ func checkParts(t *testing.T, m *Model, a api.Ask, got api.Answer) {
 // TestCounts covers P29.9: the counts over all series add up to the number of entries.
 func TestCounts(t *testing.T) {
 	random := rand.New(rand.NewSource(31))
+	pick := sample.Pick(random.Intn)
 	for range 30 {
-		m := fill(t, pushes(random)...)
+		m := fill(t, pick.Pushes(60)...)
 		for _, stages := range []string{"", " | logfmt", " | json", ` | regexp "(?P<x>.)"`} {
 			got := m.Ask(ask("sum(count_over_time({a=~\".*\"}"+stages+"[1h]))", 1000, 1000, 1, 0))
 			if show(got) != "{} 1000="+strconv.Itoa(m.Len()) {
