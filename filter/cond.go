@@ -6,15 +6,16 @@ import (
 	"driftnet/api"
 	"driftnet/labels"
 	"driftnet/measure"
+	"driftnet/numbers"
 	"driftnet/pike"
 	"driftnet/rat"
 )
 
 // The values of a condition, in their order.
 const (
-	no = iota
-	wrong
-	yes
+	valueNo = iota
+	valueWrong
+	valueYes
 )
 
 // condition is No, Wrong or Yes for labels.
@@ -38,7 +39,7 @@ func (c matches) value(l []api.Label) int { return yesIf(c.Is(labels.Get(l, c.na
 // negated is the opposite of a condition that is never Wrong.
 type negated struct{ condition }
 
-func (c negated) value(l []api.Label) int { return yesIf(c.condition.value(l) == no) }
+func (c negated) value(l []api.Label) int { return yesIf(c.condition.value(l) == valueNo) }
 
 // measured compares the number of a label.
 type measured struct {
@@ -51,11 +52,11 @@ type measured struct {
 func (c measured) value(l []api.Label) int {
 	text := labels.Get(l, c.name)
 	if text == "" {
-		return no
+		return valueNo
 	}
 	v, e := c.read(text)
 	if e != api.OK {
-		return wrong
+		return valueWrong
 	}
 	order, _ := rat.Cmp(v, c.bound)
 	return yesIf(holds(c.op, order))
@@ -89,12 +90,12 @@ func NewCond(c api.Cond) (*Cond, api.Errno) {
 }
 
 // Fits reports whether labels pass, and whether they are faulty.
-func (c *Cond) Fits(l []api.Label) (fits, faulty bool) {
+func (c *Cond) Fits(l []api.Label) (fits, wrong bool) {
 	if c == nil || c.condition == nil {
 		return false, false
 	}
 	value := c.condition.value(l)
-	return value != no, value == wrong
+	return value != valueNo, value == valueWrong
 }
 
 func compile(c api.Cond) (condition, api.Errno) {
@@ -135,8 +136,7 @@ func compileMeasured(c api.Cond, read func(string) (api.Rat, api.Errno)) (condit
 	if c.Op < api.OpEq || c.Op > api.OpGe || rat.Check(c.V) != api.OK {
 		return nil, api.ErrArg
 	}
-	bound := api.Rat{Neg: c.V.Neg, Num: slices.Clone(c.V.Num), Den: slices.Clone(c.V.Den)}
-	return measured{c.Name, read, c.Op, bound}, api.OK
+	return measured{c.Name, read, c.Op, numbers.Copy(c.V)}, api.OK
 }
 
 func compilePair(c api.Cond) (condition, api.Errno) {
@@ -176,9 +176,9 @@ func holds(op, order int) bool {
 
 func yesIf(is bool) int {
 	if is {
-		return yes
+		return valueYes
 	}
-	return no
+	return valueNo
 }
 
 // isDeeper reports whether c is more than most deep.

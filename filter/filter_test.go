@@ -10,16 +10,8 @@ import (
 	"driftnet/api"
 	"driftnet/labels"
 	"driftnet/rat"
+	"driftnet/sample"
 )
-
-// of makes labels of names and values in turn.
-func of(l ...string) []api.Label {
-	var out []api.Label
-	for i := 0; i+1 < len(l); i += 2 {
-		out = append(out, api.Label{Name: l[i], Value: l[i+1]})
-	}
-	return out
-}
 
 func text(name string, op int, text string) api.Cond {
 	return api.Cond{Kind: api.CondText, Name: name, Op: op, Text: text}
@@ -71,11 +63,11 @@ func TestCond(t *testing.T) {
 		l            []api.Label
 		fits, faulty bool
 	}{
-		{ms, of("ms", "250"), true, false}, {ms, of("ms", "x"), true, true}, {ms, nil, false, false}, {ms, of("ms", "100"), false, false}, {ms, of("ms", "100.1"), true, false}, {ms, of("ms", ""), false, false}, {ms, of("ms", "5s"), true, true}, {ms, of("ms", "-250"), false, false}, {ms, of("ms", "1000", "ms", "x"), true, false},
-		{measure1(api.CondTime, "d", api.OpGe, "1500"), of("d", "1500ms"), true, false}, {measure1(api.CondTime, "d", api.OpGe, "1500"), of("d", "1.5s"), true, false}, {measure1(api.CondTime, "d", api.OpGe, "1500"), of("d", "2"), true, true}, {measure1(api.CondTime, "d", api.OpLt, "0"), of("d", "-1ns"), true, false},
-		{measure1(api.CondSize, "size", api.OpLt, "2000"), of("size", "1.9KB"), true, false}, {measure1(api.CondSize, "size", api.OpLt, "2000"), of("size", "2KiB"), false, false}, {measure1(api.CondSize, "size", api.OpLt, "2000"), of("size", "2kb"), true, true}, {measure1(api.CondNumber, "v", api.OpEq, "-1/3"), of("v", "0"), false, false},
-		{both(api.CondAnd, ms, text("job", 1, "a")), of("job", "a", "ms", "x"), true, true}, {both(api.CondOr, ms, text("job", 1, "a")), of("job", "a", "ms", "x"), true, false}, {both(api.CondAnd, ms, text("job", 1, "b")), of("job", "a", "ms", "x"), false, false}, {both(api.CondOr, ms, text("job", 1, "b")), of("job", "a", "ms", "x"), true, true}, {both(api.CondOr, text("job", 1, "b"), ms), nil, false, false},
-		{text("a", 1, "x"), of("a", "x"), true, false}, {text("a", 1, ""), nil, true, false}, {text("a", 2, ""), nil, false, false}, {text("a", 2, "x"), of("a", "y"), true, false}, {text("a", 3, "x+"), of("a", "xx"), true, false}, {text("a", 3, "x+"), of("a", "xxy"), false, false}, {text("a", 3, ".*"), nil, true, false}, {text("a", 4, "x+"), of("a", "xxy"), true, false}, {text("a", 4, ".*"), nil, false, false}, {text("", 1, "("), of("", "("), true, false},
+		{ms, sample.Labels("ms", "250"), true, false}, {ms, sample.Labels("ms", "x"), true, true}, {ms, nil, false, false}, {ms, sample.Labels("ms", "100"), false, false}, {ms, sample.Labels("ms", "100.1"), true, false}, {ms, sample.Labels("ms", ""), false, false}, {ms, sample.Labels("ms", "5s"), true, true}, {ms, sample.Labels("ms", "-250"), false, false}, {ms, sample.Labels("ms", "1000", "ms", "x"), true, false},
+		{measure1(api.CondTime, "d", api.OpGe, "1500"), sample.Labels("d", "1500ms"), true, false}, {measure1(api.CondTime, "d", api.OpGe, "1500"), sample.Labels("d", "1.5s"), true, false}, {measure1(api.CondTime, "d", api.OpGe, "1500"), sample.Labels("d", "2"), true, true}, {measure1(api.CondTime, "d", api.OpLt, "0"), sample.Labels("d", "-1ns"), true, false},
+		{measure1(api.CondSize, "size", api.OpLt, "2000"), sample.Labels("size", "1.9KB"), true, false}, {measure1(api.CondSize, "size", api.OpLt, "2000"), sample.Labels("size", "2KiB"), false, false}, {measure1(api.CondSize, "size", api.OpLt, "2000"), sample.Labels("size", "2kb"), true, true}, {measure1(api.CondNumber, "v", api.OpEq, "-1/3"), sample.Labels("v", "0"), false, false},
+		{both(api.CondAnd, ms, text("job", 1, "a")), sample.Labels("job", "a", "ms", "x"), true, true}, {both(api.CondOr, ms, text("job", 1, "a")), sample.Labels("job", "a", "ms", "x"), true, false}, {both(api.CondAnd, ms, text("job", 1, "b")), sample.Labels("job", "a", "ms", "x"), false, false}, {both(api.CondOr, ms, text("job", 1, "b")), sample.Labels("job", "a", "ms", "x"), true, true}, {both(api.CondOr, text("job", 1, "b"), ms), nil, false, false},
+		{text("a", 1, "x"), sample.Labels("a", "x"), true, false}, {text("a", 1, ""), nil, true, false}, {text("a", 2, ""), nil, false, false}, {text("a", 2, "x"), sample.Labels("a", "y"), true, false}, {text("a", 3, "x+"), sample.Labels("a", "xx"), true, false}, {text("a", 3, "x+"), sample.Labels("a", "xxy"), false, false}, {text("a", 3, ".*"), nil, true, false}, {text("a", 4, "x+"), sample.Labels("a", "xxy"), true, false}, {text("a", 4, ".*"), nil, false, false}, {text("", 1, "("), sample.Labels("", "("), true, false},
 	} {
 		x, e := NewCond(c.c)
 		if fits, faulty := x.Fits(c.l); e != api.OK || fits != c.fits || faulty != c.faulty {
@@ -121,7 +113,7 @@ func TestMemory(t *testing.T) {
 	c := measure1(api.CondNumber, "a", api.OpEq, "7")
 	x, _ := NewCond(both(api.CondAnd, c, c))
 	c.V.Num[0] = 8
-	if fits, _ := x.Fits(of("a", "7")); !fits {
+	if fits, _ := x.Fits(sample.Labels("a", "7")); !fits {
 		t.Error("the number was retained")
 	}
 }

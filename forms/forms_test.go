@@ -7,16 +7,8 @@ import (
 
 	"driftnet/api"
 	"driftnet/quote"
+	"driftnet/sample"
 )
-
-// of makes labels of names and values in turn.
-func of(l ...string) []api.Label {
-	var out []api.Label
-	for i := 0; i+1 < len(l); i += 2 {
-		out = append(out, api.Label{Name: l[i], Value: l[i+1]})
-	}
-	return out
-}
 
 func run(t *testing.T, template string, l []api.Label, line string) string {
 	t.Helper()
@@ -50,29 +42,29 @@ func TestRun(t *testing.T) {
 		line     string
 		want     string
 	}{
-		{"{{.app}}: {{ __line__ }}", of("app", "web"), "hi", "web: hi"},
-		{"{{.x | upper | len}}-{{.y}}}", of("x", "ab"), "", "2-}"},
+		{"{{.app}}: {{ __line__ }}", sample.Labels("app", "web"), "hi", "web: hi"},
+		{"{{.x | upper | len}}-{{.y}}}", sample.Labels("x", "ab"), "", "2-}"},
 		{"{{__line__|upper}}", nil, "aZz{`é\xff", "AZZ{`é\xff"},
 		{"{{__line__|lower}}", nil, "aZA@[É", "aza@[É"},
 		{"<{{__line__|trim}}>", nil, " \t\x00a b\n\x1f", "<a b>"},
 		{"<{{__line__|trim}}>", nil, "\u0085\u00a0", "<\u0085\u00a0>"},
 		{"{{__line__ | quote}}", nil, "a\"\n", `"a\"\n"`},
-		{"{{.a | len}}{{.b|len}}", of("a", "é"), "", "20"},
-		{"{{.a}}{{.a}}", of("b", "x", "a", "1", "a", "2"), "", "11"},
-		{"{{.a}}", of("a", "{{.b}}", "b", "x"), "", "{{.b}}"},
-		{"}} {{.a}} }}", of("a", "1"), "", "}} 1 }}"},
-		{"{{.__line__}}", of("__line__", "label"), "line", "label"},
+		{"{{.a | len}}{{.b|len}}", sample.Labels("a", "é"), "", "20"},
+		{"{{.a}}{{.a}}", sample.Labels("b", "x", "a", "1", "a", "2"), "", "11"},
+		{"{{.a}}", sample.Labels("a", "{{.b}}", "b", "x"), "", "{{.b}}"},
+		{"}} {{.a}} }}", sample.Labels("a", "1"), "", "}} 1 }}"},
+		{"{{.__line__}}", sample.Labels("__line__", "label"), "line", "label"},
 	} {
 		if got := run(t, c.template, c.l, c.line); got != c.want {
 			t.Errorf("%s: %q", c.template, got)
 		}
 	}
 	for _, f := range []*Form{nil, {}} {
-		if f.Run(of("a", "1"), "x") != "" {
+		if f.Run(sample.Labels("a", "1"), "x") != "" {
 			t.Error("a template that is none")
 		}
 	}
-	l := of("a", "x", "b", "y")
+	l := sample.Labels("a", "x", "b", "y")
 	run(t, "{{.a|upper}}", l, "")
 	if l[0].Value != "x" {
 		t.Error("the argument was changed")
@@ -90,7 +82,7 @@ func TestLimits(t *testing.T) {
 		"{{__line__|quote|len}}":    "4096",
 		"{{.a}}{{.a}}|{{__line__}}": strings.Repeat("b", 4094)[:4094] + "|a",
 	} {
-		if got := run(t, template, of("a", strings.Repeat("b", 2047)), long); got != want {
+		if got := run(t, template, sample.Labels("a", strings.Repeat("b", 2047)), long); got != want {
 			t.Errorf("%s: %d bytes", template, len(got))
 		}
 	}
@@ -118,7 +110,7 @@ func TestLaws(t *testing.T) {
 		}
 		return run(t, "{{__line__|len}}", nil, s)
 	}
-	l := of("a", "x{{y", "b", "ab")
+	l := sample.Labels("a", "x{{y", "b", "ab")
 	for range 3000 {
 		one, two := "", ""
 		for range random.Intn(5) {

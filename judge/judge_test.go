@@ -11,21 +11,8 @@ import (
 	"driftnet/sample"
 )
 
-// of makes labels of names and values in turn.
-func of(l ...string) []api.Label {
-	var out []api.Label
-	for i := 0; i+1 < len(l); i += 2 {
-		out = append(out, api.Label{Name: l[i], Value: l[i+1]})
-	}
-	return out
-}
-
 func push(n int, e api.Errno, l []api.Label, list ...api.Entry) Event {
 	return Event{Kind: KindPush, N: n, Err: e, Push: api.Push{Labels: l, List: list}}
-}
-
-func entry(at int, line string) api.Entry {
-	return api.Entry{At: at, Line: line}
 }
 
 func ask(text string, at int, answer api.Answer) Event {
@@ -33,12 +20,12 @@ func ask(text string, at int, answer api.Answer) Event {
 }
 
 func series(v int, at int, l ...string) api.Answer {
-	return api.Answer{Series: []api.Series{{Labels: of(l...), Points: []api.Point{{At: at, V: rat.Of(v)}}}}}
+	return api.Answer{Series: []api.Series{{Labels: sample.Labels(l...), Points: []api.Point{{At: at, V: rat.Of(v)}}}}}
 }
 
 // TestFind covers P31.2 by the examples.
 func TestFind(t *testing.T) {
-	one := push(1, api.OK, of("a", "x"), entry(5, "k"))
+	one := push(1, api.OK, sample.Labels("a", "x"), sample.Entry(5, "k"))
 	count := func(v int) Event { return ask(`count_over_time({a="x"}[1s])`, 5, series(v, 5, "a", "x")) }
 	failed := func(at int) Event { return ask("1 +", 0, api.Answer{Err: api.ErrQuery, At: at}) }
 	with := func(x Event, change func(x *Event)) Event { change(&x); return x }
@@ -48,7 +35,7 @@ func TestFind(t *testing.T) {
 		is bool
 	}{
 		{nil, 0, false}, {[]Event{one, count(1)}, 0, false}, {[]Event{with(one, func(x *Event) { x.N = 0 }), count(1)}, 0, true}, {[]Event{one, count(2)}, 1, true}, {[]Event{failed(3)}, 0, false}, {[]Event{failed(2)}, 0, true}, {[]Event{{Kind: 3}}, 0, true}, {[]Event{{}}, 0, true}, {[]Event{one, {Kind: -1}}, 1, true},
-		{[]Event{one, push(1, api.OK, of("a", "x"), entry(4, "k"))}, 1, true}, {[]Event{one, push(0, api.ErrOrder, of("a", "x"), entry(4, "k")), count(1)}, 0, false}, {[]Event{with(one, func(x *Event) { x.Err = api.ErrOrder })}, 0, true},
+		{[]Event{one, push(1, api.OK, sample.Labels("a", "x"), sample.Entry(4, "k"))}, 1, true}, {[]Event{one, push(0, api.ErrOrder, sample.Labels("a", "x"), sample.Entry(4, "k")), count(1)}, 0, false}, {[]Event{with(one, func(x *Event) { x.Err = api.ErrOrder })}, 0, true},
 		// What does not belong to the kind is ignored.
 		{[]Event{with(one, func(x *Event) { x.Answer, x.Ask = series(1, 2), api.Ask{Text: ";"} }), with(count(1), func(x *Event) { x.N, x.Err, x.Push = 7, 8, one.Push })}, 0, false},
 		{[]Event{one, ask(`{a="x"}`, 5, api.Answer{})}, 0, false}, {[]Event{one, ask(`{a="x"}`, 5, api.Answer{Rows: []api.Row{{}}})}, 1, true}, {[]Event{count(1)}, 0, true},
@@ -60,7 +47,7 @@ func TestFind(t *testing.T) {
 }
 
 func rich() api.Answer {
-	return api.Answer{Err: 3, At: 4, Rows: []api.Row{{At: 1, Line: "x", Labels: of("a", "1")}, {}}, Series: []api.Series{{Labels: of("b", "2"), Points: []api.Point{{At: 7, V: rat.Of(5)}, {At: 8, V: rat.Of(6)}}}}}
+	return api.Answer{Err: 3, At: 4, Rows: []api.Row{{At: 1, Line: "x", Labels: sample.Labels("a", "1")}, {}}, Series: []api.Series{{Labels: sample.Labels("b", "2"), Points: []api.Point{{At: 7, V: rat.Of(5)}, {At: 8, V: rat.Of(6)}}}}}
 }
 
 // TestSame covers P31.3: every part counts.
@@ -69,7 +56,7 @@ func TestSame(t *testing.T) {
 		t.Error("the same")
 	}
 	for i, change := range []func(a *api.Answer){
-		func(a *api.Answer) { a.Err = 0 }, func(a *api.Answer) { a.At = 0 }, func(a *api.Answer) { a.Rows[0].At = 0 }, func(a *api.Answer) { a.Rows[0].Line = "" }, func(a *api.Answer) { a.Rows[0].Labels[0].Value = "" }, func(a *api.Answer) { a.Rows = a.Rows[:1] }, func(a *api.Answer) { a.Rows[1].Labels = of("a", "1") }, func(a *api.Answer) { slices.Reverse(a.Rows) },
+		func(a *api.Answer) { a.Err = 0 }, func(a *api.Answer) { a.At = 0 }, func(a *api.Answer) { a.Rows[0].At = 0 }, func(a *api.Answer) { a.Rows[0].Line = "" }, func(a *api.Answer) { a.Rows[0].Labels[0].Value = "" }, func(a *api.Answer) { a.Rows = a.Rows[:1] }, func(a *api.Answer) { a.Rows[1].Labels = sample.Labels("a", "1") }, func(a *api.Answer) { slices.Reverse(a.Rows) },
 		func(a *api.Answer) { a.Series[0].Labels[0].Name = "c" }, func(a *api.Answer) { a.Series[0].Points[0].At = 0 }, func(a *api.Answer) { a.Series[0].Points[1].V.Num[0] = 1 }, func(a *api.Answer) { a.Series[0].Points = a.Series[0].Points[1:] }, func(a *api.Answer) { a.Series = nil }, func(a *api.Answer) { a.Series[0].Points[0].V.Neg = true },
 	} {
 		a := rich()
@@ -85,14 +72,14 @@ func events(random *rand.Rand) []Event {
 	var l []Event
 	for _, p := range pick.Pushes(40) {
 		if random.Intn(4) == 0 {
-			p.List = append(p.List, entry(p.List[0].At-random.Intn(2), "late"))
+			p.List = append(p.List, sample.Entry(p.List[0].At-random.Intn(2), "late"))
 		}
 		l = append(l, Event{Kind: KindPush, Push: p})
 		if random.Intn(2) == 0 {
 			l = append(l, Event{Kind: KindAsk, Ask: api.Ask{Text: pick.Query(), Start: random.Intn(20), End: 20 + random.Intn(20), Step: 1 + random.Intn(9), Limit: random.Intn(5)}})
 		}
 	}
-	return append(l, Event{Kind: KindAsk, Ask: api.Ask{Text: "1 +", Step: 1}}, Event{Kind: KindAsk}, Event{Kind: KindPush, Push: api.Push{Labels: of("a", "")}})
+	return append(l, Event{Kind: KindAsk, Ask: api.Ask{Text: "1 +", Step: 1}}, Event{Kind: KindAsk}, Event{Kind: KindPush, Push: api.Push{Labels: sample.Labels("a", "")}})
 }
 
 // TestPlay covers P31.1, P31.4, P31.5 and P31.6.
@@ -140,7 +127,7 @@ func TestPlay(t *testing.T) {
 
 // TestKinds covers P31.1: results that do not belong to the kind, events of other kinds, and memory.
 func TestKinds(t *testing.T) {
-	odd := Event{Kind: 9, N: 7, Err: 8, Answer: rich(), Ask: api.Ask{Text: "x"}, Push: api.Push{Labels: of("a", "1"), List: []api.Entry{entry(1, "x")}}}
+	odd := Event{Kind: 9, N: 7, Err: 8, Answer: rich(), Ask: api.Ask{Text: "x"}, Push: api.Push{Labels: sample.Labels("a", "1"), List: []api.Entry{sample.Entry(1, "x")}}}
 	one, two := odd, odd
 	one.Kind, two.Kind = KindPush, KindAsk
 	l := Play(odd, one, two)

@@ -10,20 +10,12 @@ import (
 	"driftnet/api"
 	"driftnet/labels"
 	"driftnet/rat"
+	"driftnet/sample"
 )
-
-// of makes labels of names and values in turn.
-func of(l ...string) []api.Label {
-	var out []api.Label
-	for i := 0; i+1 < len(l); i += 2 {
-		out = append(out, api.Label{Name: l[i], Value: l[i+1]})
-	}
-	return out
-}
 
 func value(v string, l ...string) api.Value {
 	r, _ := rat.Read(v)
-	return api.Value{Labels: of(l...), V: r}
+	return api.Value{Labels: sample.Labels(l...), V: r}
 }
 
 func values1(l ...api.Value) Side { return Side{L: l} }

@@ -7,6 +7,7 @@ import (
 	"driftnet/api"
 	"driftnet/labels"
 	"driftnet/match"
+	"driftnet/numbers"
 	"driftnet/rat"
 	"driftnet/vector"
 	"driftnet/window"
@@ -33,8 +34,7 @@ func (t instant) evaluate(p *part) (match.Side, bool, api.Errno) {
 	var e api.Errno
 	switch p.Kind {
 	case api.ExprNumber:
-		v, e := rat.Add(p.V, rat.Of(0))
-		return match.Side{IsNumber: true, V: v}, e == api.OK, e
+		return match.Side{IsNumber: true, V: numbers.Copy(p.V)}, true, api.OK
 	case api.ExprRange:
 		l, e = t.ranged(p)
 	case api.ExprVector:

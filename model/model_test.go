@@ -10,28 +10,10 @@ import (
 
 	"driftnet/api"
 	"driftnet/labels"
-	"driftnet/quote"
 	"driftnet/rat"
 	"driftnet/sample"
 	"driftnet/store"
 )
-
-// of makes labels of names and values in turn.
-func of(l ...string) []api.Label {
-	var out []api.Label
-	for i := 0; i+1 < len(l); i += 2 {
-		out = append(out, api.Label{Name: l[i], Value: l[i+1]})
-	}
-	return out
-}
-
-func entry(at int, line string) api.Entry {
-	return api.Entry{At: at, Line: line}
-}
-
-func push(l []api.Label, list ...api.Entry) api.Push {
-	return api.Push{Labels: l, List: list}
-}
 
 func fill(t *testing.T, l ...api.Push) *Model {
 	t.Helper()
@@ -44,37 +26,9 @@ func fill(t *testing.T, l ...api.Push) *Model {
 	return m
 }
 
-// show returns an answer as one line.
-func show(a api.Answer) string {
-	if a.Err != api.OK {
-		s := "error " + strconv.Itoa(int(a.Err)) + " at " + strconv.Itoa(a.At)
-		if len(a.Rows)+len(a.Series) > 0 {
-			s += " and more"
-		}
-		return s
-	}
-	var parts []string
-	for _, r := range a.Rows {
-		parts = append(parts, strconv.Itoa(r.At)+" "+labels.Text(r.Labels)+" "+quote.Quote(r.Line))
-	}
-	for _, s := range a.Series {
-		text := labels.Text(s.Labels)
-		for _, p := range s.Points {
-			v, _ := rat.Text(p.V)
-			text += " " + strconv.Itoa(p.At) + "=" + v
-		}
-		parts = append(parts, text)
-	}
-	return strings.Join(parts, "; ")
-}
-
-func ask(text string, start, end, step, limit int) api.Ask {
-	return api.Ask{Text: text, Start: start, End: end, Step: step, Limit: limit}
-}
-
 func example(t *testing.T) *Model {
 	t.Helper()
-	return fill(t, push(of("a", "x"), entry(1000, "ms=5"), entry(2000, "ms=7")), push(of("a", "y"), entry(2000, "ms=9")))
+	return fill(t, sample.Push(sample.Labels("a", "x"), sample.Entry(1000, "ms=5"), sample.Entry(2000, "ms=7")), sample.Push(sample.Labels("a", "y"), sample.Entry(2000, "ms=9")))
 }
 
 // TestPush covers P29.1: pushes are accepted and refused as by a store.
@@ -84,15 +38,15 @@ func TestPush(t *testing.T) {
 	long := strings.Repeat("x", 4097)
 	errors := map[api.Errno]int{}
 	for i := range 5000 {
-		p := push(of("n", strconv.Itoa(random.Intn(230))))
+		p := sample.Push(sample.Labels("n", strconv.Itoa(random.Intn(230))))
 		switch random.Intn(20) {
 		case 0:
-			p.Labels = of("n", "")
+			p.Labels = sample.Labels("n", "")
 		case 1:
-			p.Labels = of("b", "1", "a", "1")
+			p.Labels = sample.Labels("b", "1", "a", "1")
 		}
 		for range random.Intn(4) {
-			x := entry(i+random.Intn(20)-i%7, []string{"", "line", "line", "line", long}[random.Intn(5)])
+			x := sample.Entry(i+random.Intn(20)-i%7, []string{"", "line", "line", "line", long}[random.Intn(5)])
 			if random.Intn(40) == 0 {
 				x.At = []int{api.MaxNumber + 1, math.MinInt, -api.MaxNumber}[random.Intn(3)]
 			}
@@ -122,21 +76,21 @@ func TestAsk(t *testing.T) {
 		a    api.Ask
 		want string
 	}{
-		{ask(`{a="x"}`, 0, 3000, 1, 1), `2000 {a="x"} "ms=7"`},
-		{ask(`count_over_time({a=~".+"}[2s])`, 2000, 2000, 1, 0), `{a="x"} 2000=2; {a="y"} 2000=1`},
-		{ask(`sum(sum_over_time({a=~".+"} | logfmt | unwrap ms[2s]))`, 2000, 2000, 1, 0), `{} 2000=21`},
-		{ask("1 / 0", 0, 0, 1, 0), ""}, {ask("7", 0, 5, 5, 0), "{} 0=7 5=7"}, {ask(`absent_over_time({a="z"}[1s])`, 2000, 2000, 1, 0), "{} 2000=1"},
+		{sample.Ask(`{a="x"}`, 0, 3000, 1, 1), `2000 {a="x"} "ms=7"`},
+		{sample.Ask(`count_over_time({a=~".+"}[2s])`, 2000, 2000, 1, 0), `{a="x"} 2000=2; {a="y"} 2000=1`},
+		{sample.Ask(`sum(sum_over_time({a=~".+"} | logfmt | unwrap ms[2s]))`, 2000, 2000, 1, 0), `{} 2000=21`},
+		{sample.Ask("1 / 0", 0, 0, 1, 0), ""}, {sample.Ask("7", 0, 5, 5, 0), "{} 0=7 5=7"}, {sample.Ask(`absent_over_time({a="z"}[1s])`, 2000, 2000, 1, 0), "{} 2000=1"},
 		// Rows: the start is included, the end is not; the last ones, in order.
-		{ask(`{a=~".+"}`, 1000, 2000, 1, 9), `1000 {a="x"} "ms=5"`}, {ask(`{a=~".+"}`, 1001, 2001, 1, 9), `2000 {a="x"} "ms=7"; 2000 {a="y"} "ms=9"`}, {ask(`{a=~".+"}`, 0, 2001, 1, 1), `2000 {a="y"} "ms=9"`}, {ask(`{a=~".+"}`, 0, 2001, 1, 0), ""}, {ask(`{a=~".+"}`, 2000, 2000, 1, 9), ""}, {ask(`{a="z"}`, 0, 9999, 1, 9), ""}, {ask(`{a=~".+"} | logfmt | ms > 5 | line_format "{{.ms}}"`, 0, 9999, 1, 9), `2000 {a="x", ms="7"} "7"; 2000 {a="y", ms="9"} "9"`},
+		{sample.Ask(`{a=~".+"}`, 1000, 2000, 1, 9), `1000 {a="x"} "ms=5"`}, {sample.Ask(`{a=~".+"}`, 1001, 2001, 1, 9), `2000 {a="x"} "ms=7"; 2000 {a="y"} "ms=9"`}, {sample.Ask(`{a=~".+"}`, 0, 2001, 1, 1), `2000 {a="y"} "ms=9"`}, {sample.Ask(`{a=~".+"}`, 0, 2001, 1, 0), ""}, {sample.Ask(`{a=~".+"}`, 2000, 2000, 1, 9), ""}, {sample.Ask(`{a="z"}`, 0, 9999, 1, 9), ""}, {sample.Ask(`{a=~".+"} | logfmt | ms > 5 | line_format "{{.ms}}"`, 0, 9999, 1, 9), `2000 {a="x", ms="7"} "7"; 2000 {a="y", ms="9"} "9"`},
 		// Ranges: the start is not included, the end is.
-		{ask(`count_over_time({a="x"}[1s])`, 1000, 3000, 1000, 0), `{a="x"} 1000=1 2000=1`}, {ask(`count_over_time({a="x"}[1001ms])`, 2000, 3000, 500, 0), `{a="x"} 2000=2 2500=1 3000=1`}, {ask(`count_over_time({a="x"}[1s] offset 1s)`, 1000, 3500, 500, 0), `{a="x"} 2000=1 2500=1 3000=1 3500=1`}, {ask(`rate({a="x"}[2s])`, 2000, 2000, 1, 0), `{a="x"} 2000=1`}, {ask(`bytes_over_time({a="x"} | line_format "{{__line__}}!"[2s])`, 2000, 2000, 1, 0), `{a="x"} 2000=10`},
+		{sample.Ask(`count_over_time({a="x"}[1s])`, 1000, 3000, 1000, 0), `{a="x"} 1000=1 2000=1`}, {sample.Ask(`count_over_time({a="x"}[1001ms])`, 2000, 3000, 500, 0), `{a="x"} 2000=2 2500=1 3000=1`}, {sample.Ask(`count_over_time({a="x"}[1s] offset 1s)`, 1000, 3500, 500, 0), `{a="x"} 2000=1 2500=1 3000=1 3500=1`}, {sample.Ask(`rate({a="x"}[2s])`, 2000, 2000, 1, 0), `{a="x"} 2000=1`}, {sample.Ask(`bytes_over_time({a="x"} | line_format "{{__line__}}!"[2s])`, 2000, 2000, 1, 0), `{a="x"} 2000=10`},
 		// Series by the labels after the pipeline; without a number only where none is needed.
-		{ask(`count_over_time({a="x"} | logfmt[2s])`, 2000, 2000, 1, 0), `{a="x", ms="5"} 2000=1; {a="x", ms="7"} 2000=1`}, {ask(`count_over_time({a="x"} | json[2s])`, 2000, 2000, 1, 0), `{__error__="JSONErr", a="x"} 2000=2`}, {ask(`sum_over_time({a="x"} | unwrap ms[2s])`, 2000, 2000, 1, 0), ""}, {ask(`sum_over_time({a="x"} | label_format ms = "q" | unwrap ms[2s])`, 2000, 2000, 1, 0), ""}, {ask(`absent_over_time({a="x"} |= "z"[2s])`, 2000, 2000, 1, 0), "{} 2000=1"}, {ask(`absent_over_time({a="x"}[2s])`, 2000, 9000, 3500, 0), "{} 5500=1 9000=1"}, {ask(`quantile_over_time(0.5, {a="x"} | logfmt | unwrap ms[2s])`, 2000, 2000, 1, 0), `{a="x"} 2000=6`},
+		{sample.Ask(`count_over_time({a="x"} | logfmt[2s])`, 2000, 2000, 1, 0), `{a="x", ms="5"} 2000=1; {a="x", ms="7"} 2000=1`}, {sample.Ask(`count_over_time({a="x"} | json[2s])`, 2000, 2000, 1, 0), `{__error__="JSONErr", a="x"} 2000=2`}, {sample.Ask(`sum_over_time({a="x"} | unwrap ms[2s])`, 2000, 2000, 1, 0), ""}, {sample.Ask(`sum_over_time({a="x"} | label_format ms = "q" | unwrap ms[2s])`, 2000, 2000, 1, 0), ""}, {sample.Ask(`absent_over_time({a="x"} |= "z"[2s])`, 2000, 2000, 1, 0), "{} 2000=1"}, {sample.Ask(`absent_over_time({a="x"}[2s])`, 2000, 9000, 3500, 0), "{} 5500=1 9000=1"}, {sample.Ask(`quantile_over_time(0.5, {a="x"} | logfmt | unwrap ms[2s])`, 2000, 2000, 1, 0), `{a="x"} 2000=6`},
 		// Operators, and numbers that do not exist.
-		{ask(`sort_desc(count_over_time({a=~".+"}[2s]))`, 2000, 2000, 1, 0), `{a="x"} 2000=2; {a="y"} 2000=1`}, {ask(`topk(1, count_over_time({a=~".+"}[2s]))`, 1000, 2000, 1000, 0), `{a="x"} 1000=1 2000=2`}, {ask(`count_over_time({a=~".+"}[2s]) > 1`, 1000, 2000, 1000, 0), `{a="x"} 2000=2`}, {ask(`1 - count_over_time({a="x"}[2s])`, 2000, 2000, 1, 0), `{a="x"} 2000=-1`}, {ask(`1 / 0 + count_over_time({a="x"}[2s])`, 2000, 2000, 1, 0), ""}, {ask(`count_over_time({a="x"}[2s]) or on () (1 / 0 + count_over_time({a="x"}[2s]))`, 2000, 2000, 1, 0), `{a="x"} 2000=2`}, {ask("1 / 0 + 1", 0, 0, 1, 0), ""}, {ask("1 > bool 1 / 0", 0, 0, 1, 0), ""}, {ask("1 > bool 0", 0, 0, 1, 0), "{} 0=1"}, {ask(`sum(count_over_time({a="z"}[2s]))`, 0, 0, 1, 0), ""}, {ask(`count_over_time({a=~".+"}[2s]) / on () group_left () sum(count_over_time({a=~".+"}[2s]))`, 2000, 2000, 1, 0), `{a="x"} 2000=2/3; {a="y"} 2000=1/3`}, {ask(`count_over_time({a=~".+"}[2s]) + on () sum(count_over_time({a=~".+"}[2s]))`, 1000, 2000, 1000, 0), "error 280 at 0"},
-		{ask("7", -api.MaxNumber, api.MaxNumber, api.MaxNumber, 1000), "{} -9007199254740991=7 0=7 9007199254740991=7"}, {ask(`count_over_time({a="x"}[2501999792h] offset 2501999792h)`, -api.MaxNumber, api.MaxNumber, api.MaxNumber, 1000), `{a="x"} 9007199254740991=2`},
+		{sample.Ask(`sort_desc(count_over_time({a=~".+"}[2s]))`, 2000, 2000, 1, 0), `{a="x"} 2000=2; {a="y"} 2000=1`}, {sample.Ask(`topk(1, count_over_time({a=~".+"}[2s]))`, 1000, 2000, 1000, 0), `{a="x"} 1000=1 2000=2`}, {sample.Ask(`count_over_time({a=~".+"}[2s]) > 1`, 1000, 2000, 1000, 0), `{a="x"} 2000=2`}, {sample.Ask(`1 - count_over_time({a="x"}[2s])`, 2000, 2000, 1, 0), `{a="x"} 2000=-1`}, {sample.Ask(`1 / 0 + count_over_time({a="x"}[2s])`, 2000, 2000, 1, 0), ""}, {sample.Ask(`count_over_time({a="x"}[2s]) or on () (1 / 0 + count_over_time({a="x"}[2s]))`, 2000, 2000, 1, 0), `{a="x"} 2000=2`}, {sample.Ask("1 / 0 + 1", 0, 0, 1, 0), ""}, {sample.Ask("1 > bool 1 / 0", 0, 0, 1, 0), ""}, {sample.Ask("1 > bool 0", 0, 0, 1, 0), "{} 0=1"}, {sample.Ask(`sum(count_over_time({a="z"}[2s]))`, 0, 0, 1, 0), ""}, {sample.Ask(`count_over_time({a=~".+"}[2s]) / on () group_left () sum(count_over_time({a=~".+"}[2s]))`, 2000, 2000, 1, 0), `{a="x"} 2000=2/3; {a="y"} 2000=1/3`}, {sample.Ask(`count_over_time({a=~".+"}[2s]) + on () sum(count_over_time({a=~".+"}[2s]))`, 1000, 2000, 1000, 0), "error 280 at 0"},
+		{sample.Ask("7", -api.MaxNumber, api.MaxNumber, api.MaxNumber, 1000), "{} -9007199254740991=7 0=7 9007199254740991=7"}, {sample.Ask(`count_over_time({a="x"}[2501999792h] offset 2501999792h)`, -api.MaxNumber, api.MaxNumber, api.MaxNumber, 1000), `{a="x"} 9007199254740991=2`},
 	} {
-		if got := show(m.Ask(c.a)); got != c.want {
+		if got := sample.Show(m.Ask(c.a)); got != c.want {
 			t.Errorf("%d: %v: %s", i, c.a, got)
 		}
 	}
@@ -153,22 +107,22 @@ func TestErrors(t *testing.T) {
 		e  api.Errno
 		at int
 	}{
-		{ask("1 +", -api.MaxNumber-1, 0, 1, 0), api.ErrArg, 0}, {ask("1 +", 0, api.MaxNumber+1, 1, 0), api.ErrArg, 0}, {ask("1", 1, 0, 1, 0), api.ErrArg, 0}, {ask("1", 0, 0, 0, 0), api.ErrArg, 0}, {ask("1", 0, 0, -1, 0), api.ErrArg, 0}, {ask("1", 0, 0, api.MaxNumber+1, 0), api.ErrArg, 0}, {ask("1", 0, 0, 1, -1), api.ErrArg, 0}, {ask("1", 0, 0, 1, 1001), api.ErrArg, 0}, {ask("1", math.MinInt, math.MaxInt, 1, 1), api.ErrArg, 0},
-		{ask("1 +", 0, 5000, 1, 0), api.ErrQuery, 3}, {ask("1 ;", 0, 0, 1, 0), api.ErrToken, 2}, {ask("topk(0, 1)", 0, 0, 1, 0), api.ErrQuery, 0}, {ask(strings.Repeat(" ", 4097), 0, 0, 1, 0), api.ErrLimit, 0}, {ask(strings.Repeat("1+", 20)+"1", 0, 0, 1, 0), api.ErrDepth, 0},
-		{ask("1 < 2", 0, 5000, 1, 0), api.ErrType, 0}, {ask(`{a=~"("}`, 0, 5000, 1, 0), api.ErrRegex, 0}, {ask(`{a="x"} | pattern "x"`, 0, 0, 1, 0), api.ErrPattern, 0}, {ask(`{a="x"} | line_format "{{"`, 0, 0, 1, 0), api.ErrTemplate, 0},
-		{ask("1", 0, 1000, 1, 0), api.ErrSteps, 0}, {ask("1", -api.MaxNumber, api.MaxNumber, 1, 0), api.ErrSteps, 0}, {ask("1", 0, 1999, 2, 0), api.OK, 0}, {ask("1", 0, 999, 1, 0), api.OK, 0}, {ask(`{a="x"}`, 0, 5000, 1, 0), api.OK, 0},
+		{sample.Ask("1 +", -api.MaxNumber-1, 0, 1, 0), api.ErrArg, 0}, {sample.Ask("1 +", 0, api.MaxNumber+1, 1, 0), api.ErrArg, 0}, {sample.Ask("1", 1, 0, 1, 0), api.ErrArg, 0}, {sample.Ask("1", 0, 0, 0, 0), api.ErrArg, 0}, {sample.Ask("1", 0, 0, -1, 0), api.ErrArg, 0}, {sample.Ask("1", 0, 0, api.MaxNumber+1, 0), api.ErrArg, 0}, {sample.Ask("1", 0, 0, 1, -1), api.ErrArg, 0}, {sample.Ask("1", 0, 0, 1, 1001), api.ErrArg, 0}, {sample.Ask("1", math.MinInt, math.MaxInt, 1, 1), api.ErrArg, 0},
+		{sample.Ask("1 +", 0, 5000, 1, 0), api.ErrQuery, 3}, {sample.Ask("1 ;", 0, 0, 1, 0), api.ErrToken, 2}, {sample.Ask("topk(0, 1)", 0, 0, 1, 0), api.ErrQuery, 0}, {sample.Ask(strings.Repeat(" ", 4097), 0, 0, 1, 0), api.ErrLimit, 0}, {sample.Ask(strings.Repeat("1+", 20)+"1", 0, 0, 1, 0), api.ErrDepth, 0},
+		{sample.Ask("1 < 2", 0, 5000, 1, 0), api.ErrType, 0}, {sample.Ask(`{a=~"("}`, 0, 5000, 1, 0), api.ErrRegex, 0}, {sample.Ask(`{a="x"} | pattern "x"`, 0, 0, 1, 0), api.ErrPattern, 0}, {sample.Ask(`{a="x"} | line_format "{{"`, 0, 0, 1, 0), api.ErrTemplate, 0},
+		{sample.Ask("1", 0, 1000, 1, 0), api.ErrSteps, 0}, {sample.Ask("1", -api.MaxNumber, api.MaxNumber, 1, 0), api.ErrSteps, 0}, {sample.Ask("1", 0, 1999, 2, 0), api.OK, 0}, {sample.Ask("1", 0, 999, 1, 0), api.OK, 0}, {sample.Ask(`{a="x"}`, 0, 5000, 1, 0), api.OK, 0},
 	} {
 		if got := m.Ask(c.a); got.Err != c.e || got.At != c.at || c.e != api.OK && len(got.Rows)+len(got.Series) > 0 {
-			t.Errorf("%d: %s", i, show(got))
+			t.Errorf("%d: %s", i, sample.Show(got))
 		}
 		if n, e := m.Touched(c.a); e != c.e || e != api.OK && n != 0 {
 			t.Errorf("%d: %d, %d", i, n, e)
 		}
 	}
 	for _, m := range []*Model{nil, {}} {
-		n, e := m.Push(push(of("a", ""), entry(1, "")))
-		k, f := m.Touched(ask("1 +", 1, 0, 0, 0))
-		if got := show(m.Ask(ask("1 +", 1, 0, 0, 0))); got != "error 1 at 0" || n != 0 || e != api.ErrNil || k != 0 || f != api.ErrNil || m.Streams() != 0 || m.Len() != 0 {
+		n, e := m.Push(sample.Push(sample.Labels("a", ""), sample.Entry(1, "")))
+		k, f := m.Touched(sample.Ask("1 +", 1, 0, 0, 0))
+		if got := sample.Show(m.Ask(sample.Ask("1 +", 1, 0, 0, 0))); got != "error 1 at 0" || n != 0 || e != api.ErrNil || k != 0 || f != api.ErrNil || m.Streams() != 0 || m.Len() != 0 {
 			t.Errorf("a model that is none: %s", got)
 		}
 	}
@@ -180,23 +134,23 @@ func TestLimits(t *testing.T) {
 	for i := range 200 {
 		var l []api.Entry
 		for j := range 100 {
-			l = append(l, entry(j, "n="+strconv.Itoa(j%2)))
+			l = append(l, sample.Entry(j, "n="+strconv.Itoa(j%2)))
 		}
-		m.Push(push(of("s", strconv.Itoa(i)), l...))
+		m.Push(sample.Push(sample.Labels("s", strconv.Itoa(i)), l...))
 	}
 	for i, c := range []struct {
 		a       api.Ask
 		want    api.Errno
 		touched int
 	}{
-		{ask(`{s=~".+"}`, 0, 100, 1, 5), api.OK, 20000}, {ask(`{s=~".+"}`, 0, 99, 1, 5), api.OK, 19800},
-		{ask(`sum(count_over_time({s=~".+"}[100ms]))`, 99, 99, 1, 0), api.OK, 20000}, {ask(`sum(count_over_time({s=~".+"}[100ms])) + sum(count_over_time({s="0"}[1ms]))`, 99, 99, 1, 0), api.ErrTouch, 20001}, {ask(`count_over_time({s="0"}[100ms])`, 0, 999, 1, 0), api.OK, 10000}, {ask(`count_over_time({s=~"0|1|2"}[100ms])`, 0, 999, 1, 0), api.ErrTouch, 30000}, {ask(`count_over_time({s=~"0|1|2"} |= "nothing"[100ms])`, 0, 999, 1, 0), api.ErrTouch, 30000}, {ask("1", 0, 999, 1, 0), api.OK, 0},
-		{ask(`count_over_time({s=~".+"}[1ms])`, 0, 0, 1, 0), api.OK, 200}, {ask(`count_over_time({s=~".+"} | logfmt[2ms])`, 1, 1, 1, 0), api.ErrSeries, 400}, {ask(`sum_over_time({s=~".+"} | logfmt | label_format v = "1" | unwrap v[2ms])`, 1, 1, 1, 0), api.ErrSeries, 400}, {ask(`sum_over_time({s=~".+"} | logfmt | label_format v = "1" | unwrap v | n = "1"[2ms])`, 1, 1, 1, 0), api.OK, 400}, {ask(`sum_over_time({s=~".+"} | logfmt | label_format v = "x" | unwrap v[2ms])`, 1, 1, 1, 0), api.OK, 400},
-		{ask(`count_over_time({s=~".+"} | logfmt | n = "0"[1ms]) or count_over_time({s=~".+"} | logfmt | n = "1"[1ms] offset 1ms)`, 2, 2, 1, 0), api.ErrSeries, 400}, {ask(`sum(count_over_time({s=~".+"} | logfmt | n = "0"[1ms]) or count_over_time({s=~".+"} | logfmt | n = "1"[1ms] offset 1ms))`, 2, 2, 1, 0), api.ErrSeries, 400},
+		{sample.Ask(`{s=~".+"}`, 0, 100, 1, 5), api.OK, 20000}, {sample.Ask(`{s=~".+"}`, 0, 99, 1, 5), api.OK, 19800},
+		{sample.Ask(`sum(count_over_time({s=~".+"}[100ms]))`, 99, 99, 1, 0), api.OK, 20000}, {sample.Ask(`sum(count_over_time({s=~".+"}[100ms])) + sum(count_over_time({s="0"}[1ms]))`, 99, 99, 1, 0), api.ErrTouch, 20001}, {sample.Ask(`count_over_time({s="0"}[100ms])`, 0, 999, 1, 0), api.OK, 10000}, {sample.Ask(`count_over_time({s=~"0|1|2"}[100ms])`, 0, 999, 1, 0), api.ErrTouch, 30000}, {sample.Ask(`count_over_time({s=~"0|1|2"} |= "nothing"[100ms])`, 0, 999, 1, 0), api.ErrTouch, 30000}, {sample.Ask("1", 0, 999, 1, 0), api.OK, 0},
+		{sample.Ask(`count_over_time({s=~".+"}[1ms])`, 0, 0, 1, 0), api.OK, 200}, {sample.Ask(`count_over_time({s=~".+"} | logfmt[2ms])`, 1, 1, 1, 0), api.ErrSeries, 400}, {sample.Ask(`sum_over_time({s=~".+"} | logfmt | label_format v = "1" | unwrap v[2ms])`, 1, 1, 1, 0), api.ErrSeries, 400}, {sample.Ask(`sum_over_time({s=~".+"} | logfmt | label_format v = "1" | unwrap v | n = "1"[2ms])`, 1, 1, 1, 0), api.OK, 400}, {sample.Ask(`sum_over_time({s=~".+"} | logfmt | label_format v = "x" | unwrap v[2ms])`, 1, 1, 1, 0), api.OK, 400},
+		{sample.Ask(`count_over_time({s=~".+"} | logfmt | n = "0"[1ms]) or count_over_time({s=~".+"} | logfmt | n = "1"[1ms] offset 1ms)`, 2, 2, 1, 0), api.ErrSeries, 400}, {sample.Ask(`sum(count_over_time({s=~".+"} | logfmt | n = "0"[1ms]) or count_over_time({s=~".+"} | logfmt | n = "1"[1ms] offset 1ms))`, 2, 2, 1, 0), api.ErrSeries, 400},
 		// Each instant has 200 series, but together they have more.
-		{ask(`count_over_time({s=~".+"} | logfmt[1ms])`, 0, 1, 1, 0), api.ErrSeries, 400}, {ask(`count_over_time({s=~".+"} | logfmt[1ms])`, 0, 2, 2, 0), api.OK, 400}, {ask(`sum(count_over_time({s=~".+"} | logfmt[1ms]))`, 0, 1, 1, 0), api.OK, 400},
+		{sample.Ask(`count_over_time({s=~".+"} | logfmt[1ms])`, 0, 1, 1, 0), api.ErrSeries, 400}, {sample.Ask(`count_over_time({s=~".+"} | logfmt[1ms])`, 0, 2, 2, 0), api.OK, 400}, {sample.Ask(`sum(count_over_time({s=~".+"} | logfmt[1ms]))`, 0, 1, 1, 0), api.OK, 400},
 		// The evaluation of a later instant fails before there are too many series.
-		{ask(`count_over_time({s=~".+"} | logfmt[1ms]) + on (s) group_left () (count_over_time({s=~".+"}[2ms]) == 2)`, 0, 1, 1, 0), api.OK, 1000},
+		{sample.Ask(`count_over_time({s=~".+"} | logfmt[1ms]) + on (s) group_left () (count_over_time({s=~".+"}[2ms]) == 2)`, 0, 1, 1, 0), api.OK, 1000},
 	} {
 		got := m.Ask(c.a)
 		if got.Err != c.want || got.At != 0 || c.want != api.OK && len(got.Rows)+len(got.Series) > 0 {
@@ -206,8 +160,8 @@ func TestLimits(t *testing.T) {
 			t.Errorf("%d: %d touched, %d", i, n, e)
 		}
 	}
-	m.Push(push(of("s", "0"), entry(99, "")))
-	if got := m.Ask(ask(`{s=~".+"}`, 0, 100, 1, 5)); got.Err != api.ErrTouch {
+	m.Push(sample.Push(sample.Labels("s", "0"), sample.Entry(99, "")))
+	if got := m.Ask(sample.Ask(`{s=~".+"}`, 0, 100, 1, 5)); got.Err != api.ErrTouch {
 		t.Errorf("error %d", got.Err)
 	}
 }
@@ -216,15 +170,15 @@ func TestLimits(t *testing.T) {
 func TestOrder(t *testing.T) {
 	big := strings.Repeat("9", 40)
 	product := big + " * " + strings.Repeat(big+" * ", 2) + big
-	m := fill(t, push(of("a", "x", "b", "1"), entry(1, "v=1"), entry(2, "v=1")), push(of("a", "x", "b", "2"), entry(2, "v=1")))
+	m := fill(t, sample.Push(sample.Labels("a", "x", "b", "1"), sample.Entry(1, "v=1"), sample.Entry(2, "v=1")), sample.Push(sample.Labels("a", "x", "b", "2"), sample.Entry(2, "v=1")))
 	many := `count_over_time({a="x"}[1ms]) + on (a) count_over_time({a="x"}[1ms])`
 	for i, c := range []struct {
 		a api.Ask
 		e api.Errno
 	}{
-		{ask(product, 0, 0, 1, 0), api.ErrBig}, {ask(strings.Join(strings.Split(product, " * ")[:3], " * "), 0, 0, 1, 0), api.OK},
-		{ask("("+product+") * count_over_time({a=\"x\"}[1ms])", 9, 9, 1, 0), api.ErrBig}, {ask("1 / 0 + "+product, 9, 9, 1, 0), api.ErrBig},
-		{ask(many, 1, 1, 1, 0), api.OK}, {ask(many, 1, 2, 1, 0), api.ErrMany}, {ask("("+many+") + ("+product+")", 1, 2, 1, 0), api.ErrBig}, {ask("("+many+") + ("+product+")", 2, 2, 1, 0), api.ErrMany}, {ask("("+product+") + ("+many+")", 2, 2, 1, 0), api.ErrBig},
+		{sample.Ask(product, 0, 0, 1, 0), api.ErrBig}, {sample.Ask(strings.Join(strings.Split(product, " * ")[:3], " * "), 0, 0, 1, 0), api.OK},
+		{sample.Ask("("+product+") * count_over_time({a=\"x\"}[1ms])", 9, 9, 1, 0), api.ErrBig}, {sample.Ask("1 / 0 + "+product, 9, 9, 1, 0), api.ErrBig},
+		{sample.Ask(many, 1, 1, 1, 0), api.OK}, {sample.Ask(many, 1, 2, 1, 0), api.ErrMany}, {sample.Ask("("+many+") + ("+product+")", 1, 2, 1, 0), api.ErrBig}, {sample.Ask("("+many+") + ("+product+")", 2, 2, 1, 0), api.ErrMany}, {sample.Ask("("+product+") + ("+many+")", 2, 2, 1, 0), api.ErrBig},
 	} {
 		if got := m.Ask(c.a); got.Err != c.e {
 			t.Errorf("%d: error %d", i, got.Err)
@@ -246,17 +200,17 @@ func TestLaws(t *testing.T) {
 		shift := random.Intn(2_000_000) - 1_000_000
 		shifted := New()
 		for _, p := range l {
-			shifted.Push(push(p.Labels, entry(p.List[0].At+shift, p.List[0].Line)))
+			shifted.Push(sample.Push(p.Labels, sample.Entry(p.List[0].At+shift, p.List[0].Line)))
 		}
 		for range 60 {
-			a := ask(pick.Query(), random.Intn(20), 20+random.Intn(20), 1+random.Intn(7), 1000)
+			a := sample.Ask(pick.Query(), random.Intn(20), 20+random.Intn(20), 1+random.Intn(7), 1000)
 			got := m.Ask(a)
 			if got.Err == api.OK {
 				answered++
 			} else if got.Err != api.ErrMany {
-				t.Fatalf("%v: %s", a, show(got))
+				t.Fatalf("%v: %s", a, sample.Show(got))
 			}
-			if show(other.Ask(a)) != show(got) {
+			if sample.Show(other.Ask(a)) != sample.Show(got) {
 				t.Fatalf("%v: the order of streams matters", a)
 			}
 			b := a
@@ -270,8 +224,8 @@ func TestLaws(t *testing.T) {
 					moved.Series[i].Points[j].At -= shift
 				}
 			}
-			if show(moved) != show(got) {
-				t.Fatalf("%v: %s; shifted %s", a, show(got), show(moved))
+			if sample.Show(moved) != sample.Show(got) {
+				t.Fatalf("%v: %s; shifted %s", a, sample.Show(got), sample.Show(moved))
 			}
 			checkParts(t, m, a, got)
 		}
@@ -286,16 +240,16 @@ func checkParts(t *testing.T, m *Model, a api.Ask, got api.Answer) {
 	t.Helper()
 	if strings.HasPrefix(a.Text, "{") {
 		middle := (a.Start + a.End) / 2
-		one, two := m.Ask(ask(a.Text, a.Start, middle, 1, 1000)), m.Ask(ask(a.Text, middle, a.End, 1, 1000))
-		if show(api.Answer{Rows: append(one.Rows, two.Rows...)}) != show(got) {
-			t.Fatalf("%v: %s and %s", a, show(one), show(two))
+		one, two := m.Ask(sample.Ask(a.Text, a.Start, middle, 1, 1000)), m.Ask(sample.Ask(a.Text, middle, a.End, 1, 1000))
+		if sample.Show(api.Answer{Rows: append(one.Rows, two.Rows...)}) != sample.Show(got) {
+			t.Fatalf("%v: %s and %s", a, sample.Show(one), sample.Show(two))
 		}
 		return
 	}
 	points := map[string]string{}
 	failed := false
 	for at := a.Start; at <= a.End; at += a.Step {
-		one := m.Ask(ask(a.Text, at, at, a.Step, 0))
+		one := m.Ask(sample.Ask(a.Text, at, at, a.Step, 0))
 		failed = failed || one.Err != api.OK
 		for _, s := range one.Series {
 			v, _ := rat.Text(s.Points[0].V)
@@ -303,12 +257,12 @@ func checkParts(t *testing.T, m *Model, a api.Ask, got api.Answer) {
 		}
 	}
 	if failed != (got.Err != api.OK) || !failed && len(points) != len(got.Series) {
-		t.Fatalf("%v: %s", a, show(got))
+		t.Fatalf("%v: %s", a, sample.Show(got))
 	}
 	for _, s := range got.Series {
 		one := api.Answer{Series: []api.Series{s}}
-		if show(one) != labels.Text(s.Labels)+points[labels.Text(s.Labels)] {
-			t.Fatalf("%v: %s", a, show(one))
+		if sample.Show(one) != labels.Text(s.Labels)+points[labels.Text(s.Labels)] {
+			t.Fatalf("%v: %s", a, sample.Show(one))
 		}
 	}
 }
@@ -320,9 +274,9 @@ func TestCounts(t *testing.T) {
 	for range 30 {
 		m := fill(t, pick.Pushes(60)...)
 		for _, stages := range []string{"", " | logfmt", " | json", ` | regexp "(?P<x>.)"`} {
-			got := m.Ask(ask("sum(count_over_time({a=~\".*\"}"+stages+"[1h]))", 1000, 1000, 1, 0))
-			if show(got) != "{} 1000="+strconv.Itoa(m.Len()) {
-				t.Errorf("%s: %s", stages, show(got))
+			got := m.Ask(sample.Ask("sum(count_over_time({a=~\".*\"}"+stages+"[1h]))", 1000, 1000, 1, 0))
+			if sample.Show(got) != "{} 1000="+strconv.Itoa(m.Len()) {
+				t.Errorf("%s: %s", stages, sample.Show(got))
 			}
 		}
 	}
@@ -330,13 +284,13 @@ func TestCounts(t *testing.T) {
 
 // TestMemory covers P29.4: arguments are not retained, and results share nothing.
 func TestMemory(t *testing.T) {
-	p := push(of("a", "x"), entry(1, "v=1"))
+	p := sample.Push(sample.Labels("a", "x"), sample.Entry(1, "v=1"))
 	m := fill(t, p)
 	p.Labels[0].Value, p.List[0].Line = "changed", "changed"
 	for _, text := range []string{`{a="x"}`, `count_over_time({a="x"}[9ms])`, "7", `{a="x"} | logfmt`} {
-		a := ask(text, 1, 3, 1, 9)
+		a := sample.Ask(text, 1, 3, 1, 9)
 		first := m.Ask(a)
-		want := show(first)
+		want := sample.Show(first)
 		for i := range first.Rows {
 			first.Rows[i].Labels[0].Value = "changed"
 		}
@@ -349,7 +303,7 @@ func TestMemory(t *testing.T) {
 				t.Errorf("%s: points share memory", text)
 			}
 		}
-		if got := show(m.Ask(a)); got != want {
+		if got := sample.Show(m.Ask(a)); got != want {
 			t.Errorf("%s: %s, before %s", text, got, want)
 		}
 	}

@@ -10,16 +10,8 @@ import (
 	"driftnet/api"
 	"driftnet/labels"
 	"driftnet/rat"
+	"driftnet/sample"
 )
-
-// of makes labels of names and values in turn.
-func of(l ...string) []api.Label {
-	var out []api.Label
-	for i := 0; i+1 < len(l); i += 2 {
-		out = append(out, api.Label{Name: l[i], Value: l[i+1]})
-	}
-	return out
-}
 
 func text(kind int, s string) api.Stage      { return api.Stage{Kind: kind, Text: s} }
 func named(kind int, name string) api.Stage  { return api.Stage{Kind: kind, Name: name} }
@@ -53,56 +45,56 @@ func TestRun(t *testing.T) {
 		line   string
 		want   string // the line, the labels and the number
 	}{
-		{nil, of("a", "x"), "line", `line {a="x"}`},
-		{nil, of("b", "1", "a", "2"), "line", "line {}"},
-		{nil, of("a", ""), "line", "line {}"},
-		{stages(kind(5), cond(greater("ms", 5))), of("a", "x"), "a=1 ms=7", `a=1 ms=7 {a="x", a_extracted="1", ms="7"}`},
+		{nil, sample.Labels("a", "x"), "line", `line {a="x"}`},
+		{nil, sample.Labels("b", "1", "a", "2"), "line", "line {}"},
+		{nil, sample.Labels("a", ""), "line", "line {}"},
+		{stages(kind(5), cond(greater("ms", 5))), sample.Labels("a", "x"), "a=1 ms=7", `a=1 ms=7 {a="x", a_extracted="1", ms="7"}`},
 		{stages(kind(6)), nil, "hi", `hi {__error__="JSONErr"}`},
 		{stages(kind(5), named(14, "d")), nil, "d=2s", "d=2s {} 2000"},
 		{stages(text(7, "<v> <_>"), text(10, "{{.v}}!")), nil, "go on now", `go! {v="go"}`},
-		{stages(kind(5)), of("a", "x"), "b=1 =", `b=1 = {__error__="LogfmtErr", a="x"}`},
+		{stages(kind(5)), sample.Labels("a", "x"), "b=1 =", `b=1 = {__error__="LogfmtErr", a="x"}`},
 		{stages(kind(5), kind(6)), nil, "=", `= {__error__="LogfmtErr"}`},
 		{stages(kind(6), kind(5)), nil, "a=1", `a=1 {__error__="JSONErr", a="1"}`},
-		{stages(kind(6)), of("a", "x"), `{"a":"y","b":{"c":1}}`, `{"a":"y","b":{"c":1}} {a="x", a_extracted="y", b_c="1"}`},
-		{stages(kind(5)), of("__error__", "x"), "__error__=y b=1", `__error__=y b=1 {__error__="x", b="1"}`},
+		{stages(kind(6)), sample.Labels("a", "x"), `{"a":"y","b":{"c":1}}`, `{"a":"y","b":{"c":1}} {a="x", a_extracted="y", b_c="1"}`},
+		{stages(kind(5)), sample.Labels("__error__", "x"), "__error__=y b=1", `__error__=y b=1 {__error__="x", b="1"}`},
 		{stages(kind(5)), nil, "__error__=y", "__error__=y {}"},
-		{stages(kind(5)), of(long, "x"), long + "=1", long + "=1 {" + long + `="1"}`},
-		{stages(kind(5)), of("a", "x", "a_extracted", "z"), "a=1 a_extracted=2", `a=1 a_extracted=2 {a="x", a_extracted="1", a_extracted_extracted="2"}`},
+		{stages(kind(5)), sample.Labels(long, "x"), long + "=1", long + "=1 {" + long + `="1"}`},
+		{stages(kind(5)), sample.Labels("a", "x", "a_extracted", "z"), "a=1 a_extracted=2", `a=1 a_extracted=2 {a="x", a_extracted="1", a_extracted_extracted="2"}`},
 		{stages(kind(5), text(10, "b=2 c=3"), kind(5)), nil, "b=1", `b=2 c=3 {b="2", c="3"}`},
-		{stages(named(12, "a"), kind(5)), of("a", "x"), "a=1", `a=1 {a_extracted="1"}`},
-		{stages(text(7, "<a>-<b>")), of("a", "x"), "1-2", `1-2 {a="x", a_extracted="1", b="2"}`},
+		{stages(named(12, "a"), kind(5)), sample.Labels("a", "x"), "a=1", `a=1 {a_extracted="1"}`},
+		{stages(text(7, "<a>-<b>")), sample.Labels("a", "x"), "1-2", `1-2 {a="x", a_extracted="1", b="2"}`},
 		{stages(text(7, "<a>-<b>")), nil, "nothing", "nothing {}"},
-		{stages(text(8, "(?P<k>[a-z]+)(?P<v>[0-9]*)(x)?(?P<z>y)?")), of("k", "s"), "  ab12", `  ab12 {k="s", k_extracted="ab", v="12"}`},
+		{stages(text(8, "(?P<k>[a-z]+)(?P<v>[0-9]*)(x)?(?P<z>y)?")), sample.Labels("k", "s"), "  ab12", `  ab12 {k="s", k_extracted="ab", v="12"}`},
 		{stages(format("v", "old"), text(8, "(?P<v>[0-9]*)(?P<w>z)?")), nil, "", " {}"},
 		{stages(format("w", "old"), text(8, "(?P<v>[0-9]*)(?P<w>z)?")), nil, "1", `1 {v="1", w="old"}`},
 		{stages(text(8, "(?P<v>q)")), nil, "a", "a {}"},
 		{stages(text(8, "(a)")), nil, "a", "a {}"},
 		{stages(text(8, "(?P<__error__>a)")), nil, "a", "a {}"},
-		{stages(cond(greater("ms", 5))), of("ms", "x"), "", ` {__error__="CondErr", ms="x"}`},
-		{stages(kind(6), cond(greater("ms", 5))), of("ms", "x"), "", ` {__error__="JSONErr", ms="x"}`},
-		{stages(cond(is("__error__", "")), cond(greater("ms", 5)), cond(is("__error__", "CondErr"))), of("ms", "x"), "", ` {__error__="CondErr", ms="x"}`},
-		{stages(format("a", "{{.b}}-{{__line__}}")), of("b", "1"), "l", `l {a="1-l", b="1"}`},
-		{stages(format("a", "{{.b}}")), of("a", "1"), "l", "l {}"},
-		{stages(named(12, "a"), named(12, "z")), of("a", "1", "b", "2"), "l", `l {b="2"}`},
-		{stages(named(13, "v")), of("v", "1.5"), "l", "l {} 3/2"},
-		{stages(named(15, "v")), of("v", "2KB"), "l", "l {} 2000"},
+		{stages(cond(greater("ms", 5))), sample.Labels("ms", "x"), "", ` {__error__="CondErr", ms="x"}`},
+		{stages(kind(6), cond(greater("ms", 5))), sample.Labels("ms", "x"), "", ` {__error__="JSONErr", ms="x"}`},
+		{stages(cond(is("__error__", "")), cond(greater("ms", 5)), cond(is("__error__", "CondErr"))), sample.Labels("ms", "x"), "", ` {__error__="CondErr", ms="x"}`},
+		{stages(format("a", "{{.b}}-{{__line__}}")), sample.Labels("b", "1"), "l", `l {a="1-l", b="1"}`},
+		{stages(format("a", "{{.b}}")), sample.Labels("a", "1"), "l", "l {}"},
+		{stages(named(12, "a"), named(12, "z")), sample.Labels("a", "1", "b", "2"), "l", `l {b="2"}`},
+		{stages(named(13, "v")), sample.Labels("v", "1.5"), "l", "l {} 3/2"},
+		{stages(named(15, "v")), sample.Labels("v", "2KB"), "l", "l {} 2000"},
 		{stages(named(13, "v")), nil, "l", "l {}"},
-		{stages(named(13, "v")), of("v", "2s"), "l", `l {__error__="UnwrapErr"}`},
-		{stages(named(13, "v"), named(13, "w")), of("v", "1", "w", "2"), "l", "l {} 2"},
-		{stages(named(13, "v"), named(13, "w")), of("v", "1"), "l", "l {}"},
-		{stages(named(13, "v"), named(13, "w")), of("v", "1", "w", "x"), "l", `l {__error__="UnwrapErr"}`},
+		{stages(named(13, "v")), sample.Labels("v", "2s"), "l", `l {__error__="UnwrapErr"}`},
+		{stages(named(13, "v"), named(13, "w")), sample.Labels("v", "1", "w", "2"), "l", "l {} 2"},
+		{stages(named(13, "v"), named(13, "w")), sample.Labels("v", "1"), "l", "l {}"},
+		{stages(named(13, "v"), named(13, "w")), sample.Labels("v", "1", "w", "x"), "l", `l {__error__="UnwrapErr"}`},
 		{stages(kind(6), named(13, "__error__")), nil, "l", `l {__error__="UnwrapErr"}`},
 		{stages(format("__error__", "5"), named(13, "__error__")), nil, "l", "l {} 5"},
 		{stages(kind(6), format("__error__", "mine"), kind(6)), nil, "l", `l {__error__="mine"}`},
 		{stages(kind(6), named(12, "__error__")), nil, "l", "l {}"},
-		{stages(kind(6), named(13, "v")), of("v", "x"), "l", `l {__error__="JSONErr"}`},
+		{stages(kind(6), named(13, "v")), sample.Labels("v", "x"), "l", `l {__error__="JSONErr"}`},
 		{stages(text(1, "a"), text(2, "b"), text(3, "^a"), text(4, "z$")), nil, "aa", "aa {}"},
 		{stages(text(10, "{{__line__ | upper}}"), text(1, "A")), nil, "aa", "AA {}"},
 		{stages(text(1, "b")), nil, "aa", ""},
 		{stages(text(2, "a")), nil, "aa", ""},
 		{stages(text(3, "b")), nil, "aa", ""},
 		{stages(text(4, "a")), nil, "aa", ""},
-		{stages(cond(greater("ms", 5))), of("ms", "5"), "", ""},
+		{stages(cond(greater("ms", 5))), sample.Labels("ms", "5"), "", ""},
 		{stages(cond(greater("ms", 5))), nil, "", ""},
 	} {
 		out, ok := run(t, c.l, c.stream, c.line)
@@ -123,7 +115,7 @@ func TestRun(t *testing.T) {
 		}
 	}
 	for _, p := range []*Pipe{nil, {}} {
-		if out, ok := p.Run(of("a", "1"), "x"); ok || !sameOut(out, Out{}) {
+		if out, ok := p.Run(sample.Labels("a", "1"), "x"); ok || !sameOut(out, Out{}) {
 			t.Error("a pipeline that is none")
 		}
 	}
@@ -160,10 +152,10 @@ func TestMemory(t *testing.T) {
 	l := stages(cond(greater("a", 5)), format("c", "{{.a}}"))
 	p, _ := New(l)
 	l[0].Cond.V.Num[0], l[1].Name = 7, "z"
-	stream := of("a", "6", "b", "x")
+	stream := sample.Labels("a", "6", "b", "x")
 	for range 2 {
 		out, ok := p.Run(stream, "line")
-		if !ok || !labels.Same(out.Labels, of("a", "6", "b", "x", "c", "6")) {
+		if !ok || !labels.Same(out.Labels, sample.Labels("a", "6", "b", "x", "c", "6")) {
 			t.Errorf("%v, %v", out, ok)
 		}
 		out.Labels[0].Value = "changed"
@@ -171,7 +163,7 @@ func TestMemory(t *testing.T) {
 	plain, _ := New(nil)
 	out, _ := plain.Run(stream, "line")
 	out.Labels[0].Value = "changed"
-	if !labels.Same(stream, of("a", "6", "b", "x")) {
+	if !labels.Same(stream, sample.Labels("a", "6", "b", "x")) {
 		t.Errorf("%v", stream)
 	}
 }
@@ -191,7 +183,7 @@ func randomStage(random *rand.Rand, plain bool) api.Stage {
 func TestLaws(t *testing.T) {
 	random := rand.New(rand.NewSource(25))
 	lines := []string{"a=1 b=2", "a=x c=5s", `{"a":"x","b":1}`, "ab", "zz", "q=1 a=2", ""}
-	streams := [][]api.Label{nil, of("a", "x"), of("__error__", "E", "b", "7"), of("b", "2s", "c", "9")}
+	streams := [][]api.Label{nil, sample.Labels("a", "x"), sample.Labels("__error__", "E", "b", "7"), sample.Labels("b", "2s", "c", "9")}
 	kept := 0
 	for range 20000 {
 		var first, last []api.Stage

@@ -1,11 +1,14 @@
 package pipe
 
 import (
+	"slices"
+
 	"driftnet/api"
 	"driftnet/filter"
 	"driftnet/forms"
 	"driftnet/jscan"
 	"driftnet/labels"
+	"driftnet/latest"
 	"driftnet/logfmt"
 	"driftnet/pike"
 )
@@ -39,18 +42,19 @@ func (x *entry) set(name, value string) {
 	x.Labels = labels.Set(x.Labels, name, value)
 }
 
-// add adds the labels of a parser.
+// add adds the labels of a parser, each of which replaces the one with its name.
 func (x *entry) add(l ...api.Label) {
+	all := slices.Clone(x.Labels)
 	for _, label := range l {
 		if label.Name == errorName {
 			continue
 		}
-		name := label.Name
-		if labels.Get(x.stream, name) != "" {
-			name = labels.Clean(name + extracted)
+		if labels.Get(x.stream, label.Name) != "" {
+			label.Name = labels.Clean(label.Name + extracted)
 		}
-		x.set(name, label.Value)
+		all = append(all, label)
 	}
+	x.Labels = latest.Of(all)
 }
 
 // stage changes an entry; false if it drops it.

@@ -10,16 +10,8 @@ import (
 
 	"driftnet/api"
 	"driftnet/labels"
+	"driftnet/sample"
 )
-
-// of makes labels of names and values in turn.
-func of(l ...string) []api.Label {
-	var out []api.Label
-	for i := 0; i+1 < len(l); i += 2 {
-		out = append(out, api.Label{Name: l[i], Value: l[i+1]})
-	}
-	return out
-}
 
 func match(kind int, name, value string) api.Matcher {
 	return api.Matcher{Kind: kind, Name: name, Value: value}
@@ -28,7 +20,7 @@ func match(kind int, name, value string) api.Matcher {
 func example(t *testing.T) *Index {
 	t.Helper()
 	x := New()
-	for i, l := range [][]api.Label{of("a", "1", "b", "2"), of("a", "1"), of("b", "3")} {
+	for i, l := range [][]api.Label{sample.Labels("a", "1", "b", "2"), sample.Labels("a", "1"), sample.Labels("b", "3")} {
 		if n, e := x.Add(l); n != i || e != api.OK {
 			t.Fatalf("%v: %d, %d", l, n, e)
 		}
@@ -59,18 +51,18 @@ func TestCheck(t *testing.T) {
 // TestAdd covers P13.2 and P13.4: numbers, labels, names and values.
 func TestAdd(t *testing.T) {
 	x := example(t)
-	for _, l := range [][]api.Label{of("b", "1", "a", "2"), of("a", ""), of("9", "x"), of("a", strings.Repeat("v", 257)), of("a", "1", "a", "1")} {
+	for _, l := range [][]api.Label{sample.Labels("b", "1", "a", "2"), sample.Labels("a", ""), sample.Labels("9", "x"), sample.Labels("a", strings.Repeat("v", 257)), sample.Labels("a", "1", "a", "1")} {
 		if n, e := x.Add(l); n != 0 || e != api.ErrLabels {
 			t.Errorf("%v: %d, %d", l, n, e)
 		}
 	}
-	if n, e := x.Add(of("a", "1")); n != 3 || e != api.OK {
+	if n, e := x.Add(sample.Labels("a", "1")); n != 3 || e != api.OK {
 		t.Errorf("the same labels again: %d, %d", n, e)
 	}
 	if n, e := x.Add(nil); n != 4 || e != api.OK || x.Len() != 5 {
 		t.Errorf("no labels: %d, %d", n, e)
 	}
-	if l, ok := x.Labels(0); !ok || !labels.Same(l, of("a", "1", "b", "2")) {
+	if l, ok := x.Labels(0); !ok || !labels.Same(l, sample.Labels("a", "1", "b", "2")) {
 		t.Errorf("%v, %v", l, ok)
 	}
 	if l, ok := x.Labels(4); !ok || len(l) > 0 {
@@ -121,7 +113,7 @@ func TestNone(t *testing.T) {
 			t.Error("an index that is none")
 		}
 	}
-	l := of("a", "1", "b", "2")
+	l := sample.Labels("a", "1", "b", "2")
 	x := New()
 	x.Add(l)
 	l[0].Value = "changed"

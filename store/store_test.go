@@ -10,24 +10,8 @@ import (
 
 	"driftnet/api"
 	"driftnet/labels"
+	"driftnet/sample"
 )
-
-// of makes labels of names and values in turn.
-func of(l ...string) []api.Label {
-	var out []api.Label
-	for i := 0; i+1 < len(l); i += 2 {
-		out = append(out, api.Label{Name: l[i], Value: l[i+1]})
-	}
-	return out
-}
-
-func entry(at int, line string) api.Entry {
-	return api.Entry{At: at, Line: line}
-}
-
-func push(l []api.Label, list ...api.Entry) api.Push {
-	return api.Push{Labels: l, List: list}
-}
 
 func is(name, value string) api.Matcher {
 	return api.Matcher{Kind: api.MatchIs, Name: name, Value: value}
@@ -44,7 +28,7 @@ func example(t *testing.T) *Store {
 		p api.Push
 		n int
 		e api.Errno
-	}{{push(of("a", "1"), entry(5, "x"), entry(4, "y"), entry(6, "z")), 1, api.ErrOrder}, {push(of("b", ""), entry(1, "x")), 0, api.ErrLabels}, {push(nil, entry(7, "q")), 1, api.OK}} {
+	}{{sample.Push(sample.Labels("a", "1"), sample.Entry(5, "x"), sample.Entry(4, "y"), sample.Entry(6, "z")), 1, api.ErrOrder}, {sample.Push(sample.Labels("b", ""), sample.Entry(1, "x")), 0, api.ErrLabels}, {sample.Push(nil, sample.Entry(7, "q")), 1, api.OK}} {
 		if n, e := s.Push(c.p); n != c.n || e != c.e {
 			t.Fatalf("%v: %d, %d", c.p, n, e)
 		}
@@ -62,15 +46,15 @@ func TestPush(t *testing.T) {
 		e                api.Errno
 		streams, entries int
 	}{
-		{push(of("b", "1", "a", "1"), entry(1, "")), 0, api.ErrLabels, 2, 2},
-		{push(of("c", "1")), 0, api.OK, 2, 2},
-		{push(of("c", "1"), entry(1, long), entry(1, "")), 0, api.ErrLine, 2, 2},
-		{push(of("c", "1"), entry(api.MaxNumber+1, "")), 0, api.ErrRange, 2, 2},
-		{push(of("c", "1"), entry(1, ""), entry(2, long)), 1, api.ErrLine, 3, 3},
-		{push(of("c", "1"), entry(1, "again"), entry(1, "more"), entry(0, "")), 2, api.ErrOrder, 3, 5},
-		{push(of("c", "1")), 0, api.OK, 3, 5},
-		{push(of("a", "1"), entry(4, "")), 0, api.ErrOrder, 3, 5},
-		{push(of("a", "1"), entry(math.MinInt, "")), 0, api.ErrRange, 3, 5},
+		{sample.Push(sample.Labels("b", "1", "a", "1"), sample.Entry(1, "")), 0, api.ErrLabels, 2, 2},
+		{sample.Push(sample.Labels("c", "1")), 0, api.OK, 2, 2},
+		{sample.Push(sample.Labels("c", "1"), sample.Entry(1, long), sample.Entry(1, "")), 0, api.ErrLine, 2, 2},
+		{sample.Push(sample.Labels("c", "1"), sample.Entry(api.MaxNumber+1, "")), 0, api.ErrRange, 2, 2},
+		{sample.Push(sample.Labels("c", "1"), sample.Entry(1, ""), sample.Entry(2, long)), 1, api.ErrLine, 3, 3},
+		{sample.Push(sample.Labels("c", "1"), sample.Entry(1, "again"), sample.Entry(1, "more"), sample.Entry(0, "")), 2, api.ErrOrder, 3, 5},
+		{sample.Push(sample.Labels("c", "1")), 0, api.OK, 3, 5},
+		{sample.Push(sample.Labels("a", "1"), sample.Entry(4, "")), 0, api.ErrOrder, 3, 5},
+		{sample.Push(sample.Labels("a", "1"), sample.Entry(math.MinInt, "")), 0, api.ErrRange, 3, 5},
 	} {
 		if n, e := s.Push(c.p); n != c.n || e != c.e || s.Streams() != c.streams || s.Len() != c.entries {
 			t.Errorf("%v: %d, %d, %d streams, %d entries", c.p.Labels, n, e, s.Streams(), s.Len())
@@ -82,7 +66,7 @@ func TestPush(t *testing.T) {
 func TestFull(t *testing.T) {
 	s := New()
 	for i := range 200 {
-		if n, e := s.Push(push(of("n", strconv.Itoa(i)), entry(i, ""))); n != 1 || e != api.OK {
+		if n, e := s.Push(sample.Push(sample.Labels("n", strconv.Itoa(i)), sample.Entry(i, ""))); n != 1 || e != api.OK {
 			t.Fatalf("%d: %d, %d", i, n, e)
 		}
 	}
@@ -90,7 +74,7 @@ func TestFull(t *testing.T) {
 		p api.Push
 		n int
 		e api.Errno
-	}{{push(of("n", "200"), entry(1, "")), 0, api.ErrFull}, {push(of("n", "200"), entry(math.MinInt, "")), 0, api.ErrFull}, {push(of("n", "200")), 0, api.OK}, {push(of("n", ""), entry(1, "")), 0, api.ErrLabels}, {push(of("n", "7"), entry(9, "")), 1, api.OK}} {
+	}{{sample.Push(sample.Labels("n", "200"), sample.Entry(1, "")), 0, api.ErrFull}, {sample.Push(sample.Labels("n", "200"), sample.Entry(math.MinInt, "")), 0, api.ErrFull}, {sample.Push(sample.Labels("n", "200")), 0, api.OK}, {sample.Push(sample.Labels("n", ""), sample.Entry(1, "")), 0, api.ErrLabels}, {sample.Push(sample.Labels("n", "7"), sample.Entry(9, "")), 1, api.OK}} {
 		if n, e := s.Push(c.p); n != c.n || e != c.e || s.Streams() != 200 {
 			t.Errorf("%v: %d, %d", c.p, n, e)
 		}
@@ -103,7 +87,7 @@ func TestFull(t *testing.T) {
 // TestSelect covers P15.2 by the examples.
 func TestSelect(t *testing.T) {
 	s := example(t)
-	none, one := Stream{List: []api.Entry{entry(7, "q")}}, Stream{Labels: of("a", "1"), List: []api.Entry{entry(5, "x")}}
+	none, one := Stream{List: []api.Entry{sample.Entry(7, "q")}}, Stream{Labels: sample.Labels("a", "1"), List: []api.Entry{sample.Entry(5, "x")}}
 	for _, c := range []struct {
 		from, to int
 		l        []api.Matcher
@@ -135,21 +119,21 @@ func TestSelect(t *testing.T) {
 func TestTurn(t *testing.T) {
 	s := New()
 	for i := range 70 {
-		s.Push(push(of("a", "1"), entry(i, "line")))
-		s.Push(push(of("a", "2"), entry(i, "line")))
+		s.Push(sample.Push(sample.Labels("a", "1"), sample.Entry(i, "line")))
+		s.Push(sample.Push(sample.Labels("a", "2"), sample.Entry(i, "line")))
 	}
 	for _, c := range []struct {
 		l    []api.Label
 		want int
-	}{{of("a", "1"), 2}, {of("a", "3"), 0}, {of("a", ""), 0}, {nil, 0}} {
+	}{{sample.Labels("a", "1"), 2}, {sample.Labels("a", "3"), 0}, {sample.Labels("a", ""), 0}, {nil, 0}} {
 		if n := s.Blocks(c.l); n != c.want {
 			t.Errorf("%v: %d blocks", c.l, n)
 		}
 	}
-	if s.Turn(of("a", "3"), 0, 0, 1) || s.Turn(of("a", "1"), 2, 0, 1) || s.Turn(of("a", "1"), -1, 0, 1) || s.Turn(of("a", "1"), 0, 1<<20, 1) || s.Turn(nil, 0, 0, 1) {
+	if s.Turn(sample.Labels("a", "3"), 0, 0, 1) || s.Turn(sample.Labels("a", "1"), 2, 0, 1) || s.Turn(sample.Labels("a", "1"), -1, 0, 1) || s.Turn(sample.Labels("a", "1"), 0, 1<<20, 1) || s.Turn(nil, 0, 0, 1) {
 		t.Error("there is no such byte")
 	}
-	if !s.Turn(of("a", "2"), 1, 5, 64) {
+	if !s.Turn(sample.Labels("a", "2"), 1, 5, 64) {
 		t.Error("there is such a byte")
 	}
 	for _, c := range []struct {
@@ -162,7 +146,7 @@ func TestTurn(t *testing.T) {
 			t.Errorf("%d to %d: %d streams, %d", c.from, c.to, len(got), e)
 		}
 	}
-	s.Turn(of("a", "2"), 1, 5, 64)
+	s.Turn(sample.Labels("a", "2"), 1, 5, 64)
 	if got, e := s.Select(0, 99); e != api.OK || len(got) != 2 || len(got[1].List) != 70 {
 		t.Errorf("%v, %d", got, e)
 	}
@@ -171,18 +155,18 @@ func TestTurn(t *testing.T) {
 // TestNone covers P15.4: a nil or zero Store, and memory.
 func TestNone(t *testing.T) {
 	for _, s := range []*Store{nil, {}} {
-		n, e := s.Push(push(of("a", ""), entry(1, "")))
+		n, e := s.Push(sample.Push(sample.Labels("a", ""), sample.Entry(1, "")))
 		l, f := s.Select(0, 9, is("9", "1"))
 		if n != 0 || e != api.ErrNil || len(l) > 0 || f != api.ErrNil || s.Streams() != 0 || s.Len() != 0 || s.Blocks(nil) != 0 || s.Turn(nil, 0, 0, 1) {
 			t.Error("a store that is none")
 		}
 	}
 	s := New()
-	p := push(of("a", "1"), entry(1, "x"))
+	p := sample.Push(sample.Labels("a", "1"), sample.Entry(1, "x"))
 	s.Push(p)
 	p.Labels[0].Value, p.List[0].Line = "changed", "changed"
 	got, _ := s.Select(0, 9)
-	want := []Stream{{Labels: of("a", "1"), List: []api.Entry{entry(1, "x")}}}
+	want := []Stream{{Labels: sample.Labels("a", "1"), List: []api.Entry{sample.Entry(1, "x")}}}
 	if !same(got, want) {
 		t.Errorf("%v", got)
 	}
@@ -200,8 +184,8 @@ func TestLaws(t *testing.T) {
 	last := map[string]int{}
 	for i := range 3000 {
 		value := strconv.Itoa(random.Intn(12))
-		x := entry(random.Intn(i+1), strconv.Itoa(i))
-		n, e := s.Push(push(of("a", value, "b", "x"), x))
+		x := sample.Entry(random.Intn(i+1), strconv.Itoa(i))
+		n, e := s.Push(sample.Push(sample.Labels("a", value, "b", "x"), x))
 		if ok := len(accepted[value]) == 0 || x.At >= last[value]; ok != (e == api.OK) || n == 1 != ok || !ok && e != api.ErrOrder {
 			t.Fatalf("%v: %d, %d", x, n, e)
 		} else if ok {
@@ -216,7 +200,7 @@ func TestLaws(t *testing.T) {
 		for i := range 10 {
 			list := slices.DeleteFunc(slices.Clone(accepted[strconv.Itoa(i)]), func(x api.Entry) bool { return x.At < from || x.At >= to })
 			if len(list) > 0 {
-				want = append(want, Stream{Labels: of("a", strconv.Itoa(i), "b", "x"), List: list})
+				want = append(want, Stream{Labels: sample.Labels("a", strconv.Itoa(i), "b", "x"), List: list})
 			}
 		}
 		if e != api.OK || !same(got, want) {

@@ -10,20 +10,12 @@ import (
 	"driftnet/api"
 	"driftnet/labels"
 	"driftnet/rat"
+	"driftnet/sample"
 )
-
-// of makes labels of names and values in turn.
-func of(l ...string) []api.Label {
-	var out []api.Label
-	for i := 0; i+1 < len(l); i += 2 {
-		out = append(out, api.Label{Name: l[i], Value: l[i+1]})
-	}
-	return out
-}
 
 func value(v string, l ...string) api.Value {
 	r, _ := rat.Read(v)
-	return api.Value{Labels: of(l...), V: r}
+	return api.Value{Labels: sample.Labels(l...), V: r}
 }
 
 func show(l []api.Value) string {
@@ -51,7 +43,7 @@ func TestCheck(t *testing.T) {
 			t.Errorf("%s: %d", show(l), e)
 		}
 	}
-	for i, l := range [][]api.Value{{value("1"), value("2")}, {value("1", "a", "2"), value("1", "a", "1")}, {value("1", "a", "")}, {value("1", "b", "1", "a", "1")}, {value("1", "a", "1", "a", "2")}, {{}}, {{V: wide}}, {value("1"), {Labels: of("a", "1"), V: api.Rat{Num: []uint32{2}, Den: []uint32{2}}}}} {
+	for i, l := range [][]api.Value{{value("1"), value("2")}, {value("1", "a", "2"), value("1", "a", "1")}, {value("1", "a", "")}, {value("1", "b", "1", "a", "1")}, {value("1", "a", "1", "a", "2")}, {{}}, {{V: wide}}, {value("1"), {Labels: sample.Labels("a", "1"), V: api.Rat{Num: []uint32{2}, Den: []uint32{2}}}}} {
 		if e := Check(l); e != api.ErrArg {
 			t.Errorf("%d: %d", i, e)
 		}
