@@ -40,7 +40,7 @@ func unordered() [][]api.Label {
 
 // TestCheck covers P5.1: names and valid stream label sets.
 func TestCheck(t *testing.T) {
-	for s, want := range map[string]bool{"a": true, "_": true, "Z9_": true, long64: true, "": false, "9a": false, "a-b": false, "é": false, "a ": false, long64 + "n": false, "@": false, "[": false, "`": false, "{": false, "/": false, ":": false} {
+	for s, want := range map[string]bool{"a": true, "_": true, "Z9_": true, "azAZ09": true, "z0": true, "A": true, long64: true, "": false, "9a": false, "a-b": false, "é": false, "a ": false, long64 + "n": false, "@": false, "[": false, "`": false, "{": false, "/": false, ":": false} {
 		if IsName(s) != want {
 			t.Errorf("IsName(%q)", s)
 		}

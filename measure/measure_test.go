@@ -123,7 +123,7 @@ func TestWrite(t *testing.T) {
 	}{
 		{"WriteNumber", WriteNumber, map[string]string{"5/4": "1.25", "0": "0", "-3": "-3", "1/2": "0.5", "-1/1000": "-0.001", "100": "100", forty: forty, "-" + forty: "-" + forty, tenth: "0." + strings.Repeat("0", 38) + "1", "10": "10"},
 			[]string{"1/3", "-1/7", "1" + strings.Repeat("0", 40), tenth + "0", "1/1" + strings.Repeat("0", 60), forty + "/2", strings.Repeat("9", 150)}},
-		{"WriteTime", WriteTime, map[string]string{"5400000": "1h30m", "0": "0ms", "1": "1ms", "-61001": "-1m1s1ms", "86400000": "24h", "3600001": "1h1ms", "9007199254740991": "2501999792h59m991ms", "-1000": "-1s"},
+		{"WriteTime", WriteTime, map[string]string{"5400000": "1h30m", "0": "0ms", "1": "1ms", "-61001": "-1m1s1ms", "86400000": "24h", "3600001": "1h1ms", "9007199254740991": "2501999792h59m991ms", "-1000": "-1s", "-9007199254740991": "-2501999792h59m991ms"},
 			[]string{"1/2", "9007199254740992", "-9007199254740992"}},
 		{"WriteSize", WriteSize, map[string]string{"5": "5B", "0": "0B", "1000": "1000B", "9007199254740991": "9007199254740991B"}, []string{"-1", "1/2", "9007199254740992"}},
 	} {

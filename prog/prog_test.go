@@ -46,6 +46,8 @@ func TestCompile(t *testing.T) {
 		"a{2}":        "0 done; 1 rune 0; 2 rune 1; start 2",
 		"(a)(b)":      "0 done; 1 mark 5 0; 2 rune 1; 3 mark 4 2; 4 mark 3 3; 5 rune 4; 6 mark 2 5; start 6",
 		"((a)|(b))":   "0 done; 1 mark 3 0; 2 mark 7 1; 3 rune 2; 4 mark 6 3; 5 mark 5 1; 6 rune 5; 7 mark 4 6; 8 split 7 4; 9 mark 2 8; start 9",
+		"(a)|(b)|(c)": "0 done; 1 mark 7 0; 2 rune 1; 3 mark 6 2; 4 mark 5 0; 5 rune 4; 6 mark 4 5; 7 split 6 3; 8 mark 3 0; 9 rune 8; 10 mark 2 9; 11 split 10 7; start 11",
+		"(ab)(c)":     "0 done; 1 mark 5 0; 2 rune 1; 3 mark 4 2; 4 mark 3 3; 5 rune 4; 6 rune 5; 7 mark 2 6; start 7",
 		"(a){2}":      "0 done; 1 mark 3 0; 2 rune 1; 3 mark 2 2; 4 mark 3 3; 5 rune 4; 6 mark 2 5; start 6",
 		"()":          "0 done; 1 mark 3 0; 2 mark 2 1; start 2",
 		"(?:|a)*":     "0 done; 1 split 3 0; 2 rune 1; 3 split 1 2; start 1",

@@ -52,7 +52,7 @@ func TestDecode(t *testing.T) {
 
 // TestEncode covers P4.1 and P4.5: encodings, and that the runes of a valid string make it up.
 func TestEncode(t *testing.T) {
-	for _, r := range []rune{-1, 0, 'a', 0x7f, 0x80, 0x7ff, 0x800, 0xd7ff, 0xd800, 0xdfff, 0xe000, 0xfffd, 0xffff, 0x10000, 0x10ffff, 0x110000, 1 << 30, -1 << 31} {
+	for _, r := range []rune{-1, 0, 'a', 0x7f, 0x80, 0x7ff, 0x800, 0xd7ff, 0xd800, 0xdfff, 0xe000, 0xfffd, 0xffff, 0x10000, 0x1f601, 0x12345, 0x10ffff, 0x110000, 1 << 30, -1 << 31} {
 		if s := Encode(r); s != string(r) {
 			t.Errorf("%x: %x", r, s)
 		}
@@ -82,7 +82,7 @@ func TestQuote(t *testing.T) {
 // TestUnquote covers P4.3: what quoted strings stand for, and what is none.
 func TestUnquote(t *testing.T) {
 	for s, want := range map[string]string{
-		`"\u00e9\x21"`: "\u00e9!", "`a\\n`": "a\\n", "``": "", `""`: "", `"\a\b\f\n\r\t\v\\\'\""`: "\a\b\f\n\r\t\v\\'\"", `"\xfF"`: "\xff", `"\U0001F600\uFFFD"`: "😀\ufffd", "`\"\n\xff`": "\"\n\xff", "\"\xff\r\x00\"": "\xff\r\x00", `"\x41\x` + `42"`: "AB", `"\u004142"`: "A42", `"'"`: "'", "\"`\"": "`",
+		`"\u00e9\x21"`: "\u00e9!", "`a\\n`": "a\\n", "``": "", `""`: "", `"\a\b\f\n\r\t\v\\\'\""`: "\a\b\f\n\r\t\v\\'\"", `"\xfF"`: "\xff", `"\xAa\x09\U0010FFFF"`: "\xaa\t\U0010FFFF", `"\U0001F600\uFFFD"`: "😀\ufffd", "`\"\n\xff`": "\"\n\xff", "\"\xff\r\x00\"": "\xff\r\x00", `"\x41\x` + `42"`: "AB", `"\u004142"`: "A42", `"'"`: "'", "\"`\"": "`",
 	} {
 		if got, e := Unquote(s); e != api.OK || got != want {
 			t.Errorf("%s: %q, %d", s, got, e)

@@ -260,7 +260,7 @@ func TestText(t *testing.T) {
 	}
 	nines := strings.Repeat("9", 600)
 	for s, want := range map[string]api.Errno{
-		"": api.ErrSyntax, "-": api.ErrSyntax, "6/4": api.ErrSyntax, "-0": api.ErrSyntax, "3/1": api.ErrSyntax, "3/0": api.ErrSyntax, "0/1": api.ErrSyntax, "0/5": api.ErrSyntax, "1/": api.ErrSyntax, "/2": api.ErrSyntax, "1/2/3": api.ErrSyntax, "1/-2": api.ErrSyntax, "--1": api.ErrSyntax, "01": api.ErrSyntax, "1/02": api.ErrSyntax, "1.5": api.ErrSyntax, " 1": api.ErrSyntax, "+1": api.ErrSyntax,
+		"": api.ErrSyntax, "-": api.ErrSyntax, "6/4": api.ErrSyntax, "-0": api.ErrSyntax, "3/1": api.ErrSyntax, "3/0": api.ErrSyntax, "1/0": api.ErrSyntax, "-1/0": api.ErrSyntax, "0/1": api.ErrSyntax, "0/5": api.ErrSyntax, "1/": api.ErrSyntax, "/2": api.ErrSyntax, "1/2/3": api.ErrSyntax, "1/-2": api.ErrSyntax, "--1": api.ErrSyntax, "01": api.ErrSyntax, "1/02": api.ErrSyntax, "1.5": api.ErrSyntax, " 1": api.ErrSyntax, "+1": api.ErrSyntax,
 		nines: api.ErrBig, "-1/" + nines: api.ErrBig, nines + "9": api.ErrSyntax, "1/" + nines + "9": api.ErrSyntax, nines + "/3": api.ErrSyntax,
 	} {
 		if r, e := Read(s); e != want || !Same(r, api.Rat{}) {

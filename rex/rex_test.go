@@ -1,6 +1,7 @@
 package rex
 
 import (
+	"fmt"
 	"math/rand"
 	"regexp"
 	"slices"
@@ -65,7 +66,7 @@ func TestCheck(t *testing.T) {
 		}
 	}
 	for _, n := range []Node{
-		{}, {Kind: 9}, {Kind: -1}, {Kind: Empty, L: []Node{a}}, {Kind: Empty, Min: 1}, {Kind: Empty, Lazy: true}, {Kind: Empty, Name: "x"}, {Kind: Begin, Set: Any()}, {Kind: End, Max: 1},
+		{}, {Kind: 9}, {Kind: -1}, {Kind: Empty, L: []Node{a}}, {Kind: Empty, Min: 1}, {Kind: Empty, Lazy: true}, {Kind: Empty, Name: "x"}, {Kind: Begin, Set: Any()}, {Kind: Begin, Set: a.Set}, {Kind: End, Max: 1},
 		{Kind: One, Set: zero}, {Kind: One, Set: runes.Set{{From: 1, To: 2}, {From: 3, To: 3}}}, {Kind: One, Set: a.Set, L: []Node{a}}, {Kind: One, Set: a.Set, Max: -1},
 		seq(), seq(a), seq(a, empty), seq(a, seq(b, c)), alt(a), alt(a, alt(b, c)), {Kind: Seq, L: []Node{a, b}, Min: 1}, {Kind: Alt, L: []Node{a, b}, Name: "x"}, seq(a, Node{}),
 		repeat(a, 0, 0, false), repeat(a, -1, 1, false), repeat(a, 2, 1, false), repeat(a, 51, -1, false), repeat(a, 0, 51, false), repeat(a, 0, -2, false), repeat(empty, 0, 1, false), {Kind: Repeat, Max: -1}, {Kind: Repeat, Max: 1, L: []Node{a, b}}, {Kind: Repeat, Max: 1, L: []Node{a}, Set: Any()},
@@ -122,6 +123,28 @@ func TestWrite(t *testing.T) {
 	}
 }
 
+// TestRunes covers P10.1 and P10.4: the text of each single rune up to 300.
+func TestRunes(t *testing.T) {
+	for r := range 300 {
+		c := string(rune(r))
+		want := "\\" + c
+		switch {
+		case r < 32 || r > 126:
+			want = fmt.Sprintf("\\x{%x}", r)
+		case strings.Contains("abcdefghijklmnopqrstuvwxyzABCDEFGHIJKLMNOPQRSTUVWXYZ0123456789_ !\"#%&',/:;<=>@~`", c):
+			want = c
+		}
+		s, e := Write(one(r, r))
+		n, _, f := Parse(s)
+		if s != want || e != api.OK || f != api.OK || !Same(n, one(r, r)) {
+			t.Errorf("%d: %s, %+v", r, s, n)
+		}
+		if n, _, e := Parse("\\" + c); (e == api.OK) != (r > 32 && r < 127 && (want != c || strings.Contains("_!\"#%&',/:;<=>@~`dwsDWSntr", c))) {
+			t.Errorf("\\%s: %+v, %d", c, n, e)
+		}
+	}
+}
+
 func seqOf(s string) Node {
 	var l []Node
 	for _, r := range s {
@@ -139,7 +162,7 @@ func TestParse(t *testing.T) {
 		"(?:ab)c": seq(a, b, c), "a(?:)b": seq(a, b), "(?:a|b)|c": alt(a, b, c), "c|(?:a|b)": alt(c, a, b), "(?:)": empty, "(?:)(?:)": empty, "(?:(?:a))": a, "a(?:b(?:c))": seq(a, b, c), "(?:(?:a|b)(?:))|c": alt(a, b, c), "(?:a|b)": alt(a, b), "(?:|a)|": alt(empty, a, empty),
 		`\d\w\s`: seq(digit, word, space), `\D\W\S`: seq(not(digit), not(word), not(space)), `\n\t\r`: seq(one(10, 10), one(9, 9), one(13, 13)), `[^\n]`: {Kind: One, Set: Any()}, `[\d_\-\x{41}-\x{43}]`: {Kind: One, Set: runes.Set{{From: '-', To: '-'}, {From: '0', To: '9'}, {From: 'A', To: 'C'}, {From: '_', To: '_'}}}, "[a-a]": a,
 		`\_\!\~`: seqOf("_!~"), "}]": seqOf("}]"), "-,": seqOf("-,"), "é\u20ac\U0001F600\ufffd": seqOf("é\u20ac\U0001F600\ufffd"), `\x{1F600}`: one(0x1f600, 0x1f600), `\x{00004A}`: one('J', 'J'), "\x00\n": seqOf("\x00\n"), "[.*+?{}()|$]": {Kind: One, Set: runes.Of(runesOf(".*+?{}()|$")...)}, "[:é-ü]": {Kind: One, Set: runes.Set{{From: ':', To: ':'}, {From: 0xe9, To: 0xfc}}},
-		"a{0,}": repeat(a, 0, -1, false), "a{1,}": repeat(a, 1, -1, false), "a{0,1}": repeat(a, 0, 1, false), "a{50,50}": repeat(a, 50, 50, false), "a*?": repeat(a, 0, -1, true), "a{2,3}?": repeat(a, 2, 3, true), "()*": repeat(group("", empty), 0, -1, false), "^*$+": seq(repeat(Node{Kind: Begin}, 0, -1, false), repeat(Node{Kind: End}, 1, -1, false)), "[^\\x{0}-\\x{10FFFF}]": {Kind: One},
+		"a{0,}": repeat(a, 0, -1, false), "a{1,}": repeat(a, 1, -1, false), "a{0,1}": repeat(a, 0, 1, false), "a{50,50}": repeat(a, 50, 50, false), "a{9,19}": repeat(a, 9, 19, false), "a*?": repeat(a, 0, -1, true), "a{2,3}?": repeat(a, 2, 3, true), "()*": repeat(group("", empty), 0, -1, false), "^*$+": seq(repeat(Node{Kind: Begin}, 0, -1, false), repeat(Node{Kind: End}, 1, -1, false)), "[^\\x{0}-\\x{10FFFF}]": {Kind: One},
 	} {
 		got, at, e := Parse(s)
 		if e != api.OK || at != 0 || !Same(got, want) {

@@ -56,6 +56,9 @@ func TestCheck(t *testing.T) {
 			t.Errorf("%v is not valid", s)
 		}
 	}
+	if Max != 1114111 {
+		t.Errorf("Max is %d", Max)
+	}
 	for _, c := range []struct {
 		l    []Range
 		want Set

@@ -54,7 +54,8 @@ func TestPush(t *testing.T) {
 		{sample.Push(sample.Labels("c", "1"), sample.Entry(1, "again"), sample.Entry(1, "more"), sample.Entry(0, "")), 2, api.ErrOrder, 3, 5},
 		{sample.Push(sample.Labels("c", "1")), 0, api.OK, 3, 5},
 		{sample.Push(sample.Labels("a", "1"), sample.Entry(4, "")), 0, api.ErrOrder, 3, 5},
-		{sample.Push(sample.Labels("a", "1"), sample.Entry(math.MinInt, "")), 0, api.ErrRange, 3, 5},
+		{sample.Push(sample.Labels("d", "1"), sample.Entry(1, ""), sample.Entry(2, ""), sample.Entry(3, "")), 3, api.OK, 4, 8},
+		{sample.Push(sample.Labels("a", "1"), sample.Entry(math.MinInt, "")), 0, api.ErrRange, 4, 8},
 	} {
 		if n, e := s.Push(c.p); n != c.n || e != c.e || s.Streams() != c.streams || s.Len() != c.entries {
 			t.Errorf("%v: %d, %d, %d streams, %d entries", c.p.Labels, n, e, s.Streams(), s.Len())
