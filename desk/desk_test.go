@@ -59,7 +59,7 @@ func TestLines(t *testing.T) {
 	lines, _ := example()
 	const before = "ok; ok; error 140; ok; "
 	for line, want := range map[string]string{
-		`push -5 {b="1", a="2"} |= ""`: "ok", `push 5 {a=""} |= "x"`: "ok", `push 5 {b="1",a=""}|="x"`: "ok", `push 5 {a="x"} |= "x"`: "error 140", `push 5 {a="` + strings.Repeat("v", 256) + `"} |= "x"`: "ok", "push 9007199254740991 {a=\"x\"} |= `x`": "ok",
+		`push -5 {b="1", a="2"} |= ""`: "ok", `push 5 {a=""} |= "x"`: "ok", `push 5 {b="1",a=""}|="x"`: "ok", `push 5 {a="x"} |= "x"`: "error 140", `push 5 {a="` + strings.Repeat("v", 256) + `"} |= "x"`: "ok", "push 9007199254740991 {a=\"x\"} |= `x`": "ok", "push -9007199254740991 {a=\"z\"} |= `x`": "ok",
 		"count": "2 streams 3 entries", "judge": "fine",
 		`ask 0 0 1 0 {a="x"}`: "nothing", `ask 0 9999 1 0 {a="x"}`: "nothing", "ask 0 0 1 0 1 / 0": "nothing", "ask 0 0 1 0 1 / 3": "{} 0=1/3", "ask -1 1 2 0 -7": "{} -1=-7 1=-7", "ask 1 0 1 0 1": "error 2", "ask 0 0 0 0 ;": "error 2", "ask 0 0 1 0 ": "error 210", "ask 0 0 1 0  ;": "error 200 at 1", "ask 0 0 1 0 ;": "error 200", "ask 0 5000 1 0 1": "error 290", "ask 0 0 1 0 1 < 2": "error 230", "ask 0 0 1 0 topk(0, 1)": "error 210", "ask 0 9999 1 9 {a=\"x\"} |= \"lvl\"": `2000 {a="x"} "ms=7 lvl=err"`,
 		`touch 0 9999 1 9 {a=~".*"}`: "3", `touch 2000 2000 1 0 rate({a=~".*"}[2s]) + rate({a="x"}[1s])`: "4", "touch 0 0 1 0 1": "0", "touch 0 0 1 0 1 +": "error 210", "touch 0 5000 1 0 1": "error 290", "touch 0 0 0 0 1": "error 2",
@@ -88,6 +88,9 @@ func TestBad(t *testing.T) {
 
 // TestLimits covers P32.1: the bytes and the lines of a script.
 func TestLimits(t *testing.T) {
+	if MaxText != 262144 || MaxLines != 1000 {
+		t.Errorf("%d, %d", MaxText, MaxLines)
+	}
 	if out, e := Run(strings.Repeat("#", MaxText)); out != "" || e != api.OK {
 		t.Errorf("%q, %d", out, e)
 	}

@@ -56,7 +56,7 @@ func TestErrors(t *testing.T) {
 	}{
 		{sample.Ask("1 +", -api.MaxNumber-1, 0, 1, 0), api.ErrArg}, {sample.Ask("1", 0, math.MaxInt, 1, 0), api.ErrArg}, {sample.Ask("1", 1, 0, 1, 0), api.ErrArg}, {sample.Ask("1", 0, 1, 0, 0), api.ErrArg}, {sample.Ask("1", 0, 1, api.MaxNumber+1, 0), api.ErrArg}, {sample.Ask("1", 0, 1, 1, -1), api.ErrArg}, {sample.Ask("1", 0, 1, 1, 1001), api.ErrArg}, {sample.Ask("1", -api.MaxNumber, api.MaxNumber, api.MaxNumber, 1000), api.OK},
 		{sample.Ask("1 +", 0, 1, 1, 0), api.ErrQuery}, {sample.Ask("1 ;", 0, 1, 1, 0), api.ErrToken}, {sample.Ask("1 < 2", 0, 9999, 1, 0), api.ErrType}, {sample.Ask(`{a=~"("}`, 0, 9999, 1, 0), api.ErrRegex}, {sample.Ask("1", 0, 1000, 1, 0), api.ErrSteps}, {sample.Ask("1", 0, 999, 1, 0), api.OK},
-		{sample.Ask(`{a=~".+"}`, 0, 10001, 1, 5), api.ErrTouch}, {sample.Ask(`{a="x"} |= "nothing"`, 0, 10001, 1, 5), api.ErrTouch}, {sample.Ask(`{a="x"}`, 0, 10000, 1, 5), api.OK}, {sample.Ask(`count_over_time({a="x"}[1ms]) + count_over_time({a="x"}[20ms])`, 0, 999, 1, 0), api.ErrTouch}, {sample.Ask(`sum(count_over_time({a="x"} | logfmt[100ms]))`, 100, 100, 1, 0), api.OK}, {sample.Ask(`sum(count_over_time({a="x"} | logfmt[101ms]))`, 200, 200, 1, 0), api.ErrSeries}, {sample.Ask(`count_over_time({a="x"} | logfmt[1ms])`, 0, 99, 1, 0), api.OK}, {sample.Ask(`count_over_time({a="x"} | logfmt[1ms])`, 0, 100, 1, 0), api.ErrSeries},
+		{sample.Ask(`{a=~".+"}`, 0, 10001, 1, 5), api.ErrTouch}, {sample.Ask(`{a="x"} |= "nothing"`, 0, 10001, 1, 5), api.ErrTouch}, {sample.Ask(`{a="x"}`, 0, 10000, 1, 5), api.OK}, {sample.Ask(`count_over_time({a="x"}[1ms]) + count_over_time({a="x"}[20ms])`, 0, 999, 1, 0), api.ErrTouch}, {sample.Ask(`sum(count_over_time({a="x"} | logfmt[100ms]))`, 100, 100, 1, 0), api.OK}, {sample.Ask(`sum(count_over_time({a="x"} | logfmt[101ms]))`, 200, 200, 1, 0), api.ErrSeries}, {sample.Ask(`count_over_time({a="x"} | logfmt[1ms])`, 0, 99, 1, 0), api.OK}, {sample.Ask(`count_over_time({a="x"} | logfmt[1ms])`, 0, 100, 1, 0), api.ErrSeries}, {sample.Ask(`count_over_time({a="x"}[10s])`, 9999, 9999, 1, 0), api.OK}, {sample.Ask(`count_over_time({a="x"}[10001ms])`, 10000, 10000, 1, 0), api.ErrTouch}, {sample.Ask(`sum(count_over_time({a="x"} | logfmt[100ms]) or count_over_time({a="x"} | logfmt[100ms] offset 80ms))`, 200, 200, 1, 0), api.ErrSeries}, {sample.Ask(`sum(count_over_time({a="x"} | logfmt[101ms]))`, 200, 200, 1, 0), api.ErrSeries}, {sample.Ask(`absent_over_time({a="x"} | logfmt[101ms])`, 200, 200, 1, 0), api.ErrSeries},
 		{sample.Ask(`sum(count_over_time({a=~".+"}[5ms])) + on () count_over_time({a=~".+"}[5ms])`, 5, 5, 1, 0), api.ErrMany}, {sample.Ask(strings.Repeat("9", 40)+strings.Repeat("*"+strings.Repeat("9", 40), 3), 0, 5, 1, 0), api.ErrBig},
 	} {
 		got, want := Ask(s, c.a), m.Ask(c.a)
@@ -67,6 +67,26 @@ func TestErrors(t *testing.T) {
 	for _, s := range []*store.Store{nil, {}} {
 		if got := sample.Show(Ask(s, sample.Ask("1 +", 1, 0, 0, 0))); got != "error 1 at 0" {
 			t.Errorf("a store that is none: %s", got)
+		}
+	}
+}
+
+// TestNested covers P30.1: errors of parts, in the order in which these are evaluated.
+func TestNested(t *testing.T) {
+	// Four numbers with so many digits have a product that is just not too big, but twice it is.
+	great := strings.Repeat("9", 40) + " * " + strings.Repeat("9", 40) + " * " + strings.Repeat("9", 40) + " * " + strings.Repeat("9", 34)
+	big := great + " * 2"
+	many := `count_over_time({a="x"}[1ms]) + on (a) count_over_time({a="x"}[1ms])`
+	s, m := both(t, sample.Push(sample.Labels("a", "x", "b", "1"), sample.Entry(1, "v=1"), sample.Entry(2, "v=1")), sample.Push(sample.Labels("a", "x", "b", "2"), sample.Entry(2, "v=1")))
+	for _, c := range []struct {
+		text string
+		e    api.Errno
+	}{
+		{"1 + (" + big + ")", api.ErrBig}, {"(" + big + ") + 1", api.ErrBig}, {"1 / 0 + (" + big + ")", api.ErrBig}, {"(" + many + ") + (" + big + ")", api.ErrBig}, {"(" + big + ") + (" + many + ")", api.ErrBig}, {"sum(" + many + ") or sum(count_over_time({a=\"x\"}[1ms]))", api.ErrMany}, {"sum(count_over_time({a=\"x\"}[1ms])) or sum(" + many + ")", api.ErrMany}, {`sum(count_over_time({a="x"}[1ms]) * ` + great + ")", api.ErrBig}, {`count_over_time({a="x"}[1ms]) * ` + great, api.OK}, {"1 / 0 + (" + many + ")", api.ErrMany}, {"(1 / 0) * count_over_time({a=\"x\"}[1ms])", api.OK},
+	} {
+		got, want := Ask(s, sample.Ask(c.text, 1, 2, 1, 0)), m.Ask(sample.Ask(c.text, 1, 2, 1, 0))
+		if got.Err != c.e || sample.Show(got) != sample.Show(want) {
+			t.Errorf("%s: %s, not %s", c.text, sample.Show(got), sample.Show(want))
 		}
 	}
 }

@@ -148,7 +148,7 @@ func TestKinds(t *testing.T) {
 	if !Same(odd.Answer, rich()) || odd.Push.Labels[0].Value != "1" || odd.Push.List[0].Line != "x" {
 		t.Errorf("%+v", odd)
 	}
-	if len(Play()) > 0 {
+	if len(Play()) > 0 || KindPush != 1 || KindAsk != 2 {
 		t.Error("no events")
 	}
 }

@@ -22,6 +22,9 @@ func expr(t *testing.T, s string) api.Expr {
 
 // TestOf covers P23.1: kinds of expressions that fit.
 func TestOf(t *testing.T) {
+	if Log != 1 || Series != 2 || Number != 3 {
+		t.Errorf("%d, %d, %d", Log, Series, Number)
+	}
 	for s, want := range map[string]int{
 		`{a="x"} |= "e"`: Log, `rate({a="x"}[5m])`: Series, "1 + 2": Number, "1 < bool 2": Number, "7": Number, "-1 / 0": Number, "1 + (2 == bool 3) * 4": Number,
 		`sum(rate({a="x"}[5m]))`: Series, `1 + rate({a="x"}[5m])`: Series, `rate({a="x"}[5m]) > 1`: Series, `1 < rate({a="x"}[5m])`: Series, `rate({a="x"}[5m]) > bool 1`: Series, `rate({a="x"}[5m]) and on (a) rate({a="x"}[5m])`: Series, `topk(1, 1 + rate({a="x"}[5m]))`: Series, `rate({a="x"}[5m]) / on (a) group_left () rate({a="x"}[5m])`: Series,
@@ -40,7 +43,7 @@ func TestOf(t *testing.T) {
 // TestErrors covers P23.1: the first part that does not fit.
 func TestErrors(t *testing.T) {
 	for s, want := range map[string]api.Errno{
-		`{a="x"} | unwrap ms`: api.ErrType, `rate({a="x"} | unwrap ms[5m])`: api.ErrType, "1 < 2": api.ErrType, "1 and 2": api.ErrType,
+		`{a="x"} | unwrap ms`: api.ErrType, `rate({a="x"} | unwrap ms[5m])`: api.ErrType, "1 < 2": api.ErrType, "1 >= 2": api.ErrType, "1 == 2": api.ErrType, "1 and 2": api.ErrType,
 		`{a=~"("}`: api.ErrRegex, `{a!~"("}`: api.ErrRegex, `{a="x"} | pattern "x"`: api.ErrPattern, `{a="x"} | line_format "{{"`: api.ErrTemplate, `{a="x"} | label_format a = "{{"`: api.ErrTemplate, `{a="x"} |~ "("`: api.ErrRegex, `{a="x"} !~ "("`: api.ErrRegex, `{a="x"} | regexp "("`: api.ErrRegex, `{a="x"} | regexp "(a)"`: api.ErrRegex, `{a="x"} | regexp "a"`: api.ErrRegex, `{a="x"} | a =~ "("`: api.ErrRegex, `{a="x"} | a !~ "("`: api.ErrRegex, `{a="x"} | a = "b" and (a = "c" or a =~ "(")`: api.ErrRegex, `{a=~"(?:a{50}){50}"}`: api.ErrRegex, `{a=~"` + strings.Repeat("(?:", 21) + strings.Repeat(")", 21) + `"}`: api.ErrRegex,
 		`sum(1)`: api.ErrType, `sum(1 + 2)`: api.ErrType, "1 or 2": api.ErrType, "1 + on () 2": api.ErrType, "1 + ignoring () 2": api.ErrType, `1 + on (a) rate({a="x"}[5m])`: api.ErrType, `rate({a="x"}[5m]) and 1`: api.ErrType, `1 unless rate({a="x"}[5m])`: api.ErrType, `rate({a="x"}[5m]) * on () group_left () 2`: api.ErrType,
 		`sum_over_time({a="x"}[5m])`: api.ErrType, `quantile_over_time(0.5, {a="x"}[5m])`: api.ErrType, `absent_over_time({a="x"} | unwrap ms[5m])`: api.ErrType, `sum_over_time({a="x"} | unwrap ms | unwrap ms[5m])`: api.ErrType, `sum_over_time({a="x"} | unwrap ms | json[5m])`: api.ErrType, `sum_over_time({a="x"} | unwrap ms |= "x"[5m])`: api.ErrType, `sum_over_time({a="x"} | unwrap ms | a = "b" | drop a[5m])`: api.ErrType,

@@ -46,9 +46,9 @@ func TestPush(t *testing.T) {
 			p.Labels = sample.Labels("b", "1", "a", "1")
 		}
 		for range random.Intn(4) {
-			x := sample.Entry(i+random.Intn(20)-i%7, []string{"", "line", "line", "line", long}[random.Intn(5)])
+			x := sample.Entry(i+random.Intn(20)-i%7, []string{"", "line", "line", long[1:], long}[random.Intn(5)])
 			if random.Intn(40) == 0 {
-				x.At = []int{api.MaxNumber + 1, math.MinInt, -api.MaxNumber}[random.Intn(3)]
+				x.At = []int{api.MaxNumber + 1, math.MinInt, -api.MaxNumber, api.MaxNumber}[random.Intn(4)]
 			}
 			p.List = append(p.List, x)
 		}
@@ -147,6 +147,7 @@ func TestLimits(t *testing.T) {
 		{sample.Ask(`sum(count_over_time({s=~".+"}[100ms]))`, 99, 99, 1, 0), api.OK, 20000}, {sample.Ask(`sum(count_over_time({s=~".+"}[100ms])) + sum(count_over_time({s="0"}[1ms]))`, 99, 99, 1, 0), api.ErrTouch, 20001}, {sample.Ask(`count_over_time({s="0"}[100ms])`, 0, 999, 1, 0), api.OK, 10000}, {sample.Ask(`count_over_time({s=~"0|1|2"}[100ms])`, 0, 999, 1, 0), api.ErrTouch, 30000}, {sample.Ask(`count_over_time({s=~"0|1|2"} |= "nothing"[100ms])`, 0, 999, 1, 0), api.ErrTouch, 30000}, {sample.Ask("1", 0, 999, 1, 0), api.OK, 0},
 		{sample.Ask(`count_over_time({s=~".+"}[1ms])`, 0, 0, 1, 0), api.OK, 200}, {sample.Ask(`count_over_time({s=~".+"} | logfmt[2ms])`, 1, 1, 1, 0), api.ErrSeries, 400}, {sample.Ask(`sum_over_time({s=~".+"} | logfmt | label_format v = "1" | unwrap v[2ms])`, 1, 1, 1, 0), api.ErrSeries, 400}, {sample.Ask(`sum_over_time({s=~".+"} | logfmt | label_format v = "1" | unwrap v | n = "1"[2ms])`, 1, 1, 1, 0), api.OK, 400}, {sample.Ask(`sum_over_time({s=~".+"} | logfmt | label_format v = "x" | unwrap v[2ms])`, 1, 1, 1, 0), api.OK, 400},
 		{sample.Ask(`count_over_time({s=~".+"} | logfmt | n = "0"[1ms]) or count_over_time({s=~".+"} | logfmt | n = "1"[1ms] offset 1ms)`, 2, 2, 1, 0), api.ErrSeries, 400}, {sample.Ask(`sum(count_over_time({s=~".+"} | logfmt | n = "0"[1ms]) or count_over_time({s=~".+"} | logfmt | n = "1"[1ms] offset 1ms))`, 2, 2, 1, 0), api.ErrSeries, 400},
+		{sample.Ask(`sum(count_over_time({s=~".+"} | logfmt[2ms]))`, 1, 1, 1, 0), api.ErrSeries, 400}, {sample.Ask(`absent_over_time({s=~".+"} | logfmt[2ms])`, 1, 1, 1, 0), api.ErrSeries, 400}, {sample.Ask(`absent_over_time({s=~".+"}[2ms])`, 1, 1, 1, 0), api.OK, 400},
 		// Each instant has 200 series, but together they have more.
 		{sample.Ask(`count_over_time({s=~".+"} | logfmt[1ms])`, 0, 1, 1, 0), api.ErrSeries, 400}, {sample.Ask(`count_over_time({s=~".+"} | logfmt[1ms])`, 0, 2, 2, 0), api.OK, 400}, {sample.Ask(`sum(count_over_time({s=~".+"} | logfmt[1ms]))`, 0, 1, 1, 0), api.OK, 400},
 		// The evaluation of a later instant fails before there are too many series.
@@ -171,6 +172,8 @@ func TestOrder(t *testing.T) {
 	big := strings.Repeat("9", 40)
 	product := big + " * " + strings.Repeat(big+" * ", 2) + big
 	m := fill(t, sample.Push(sample.Labels("a", "x", "b", "1"), sample.Entry(1, "v=1"), sample.Entry(2, "v=1")), sample.Push(sample.Labels("a", "x", "b", "2"), sample.Entry(2, "v=1")))
+	// Four numbers with so many digits have a product that is just not too big, but twice it is.
+	great := strings.Repeat("9", 40) + " * " + strings.Repeat("9", 40) + " * " + strings.Repeat("9", 40) + " * " + strings.Repeat("9", 34)
 	many := `count_over_time({a="x"}[1ms]) + on (a) count_over_time({a="x"}[1ms])`
 	for i, c := range []struct {
 		a api.Ask
@@ -178,6 +181,7 @@ func TestOrder(t *testing.T) {
 	}{
 		{sample.Ask(product, 0, 0, 1, 0), api.ErrBig}, {sample.Ask(strings.Join(strings.Split(product, " * ")[:3], " * "), 0, 0, 1, 0), api.OK},
 		{sample.Ask("("+product+") * count_over_time({a=\"x\"}[1ms])", 9, 9, 1, 0), api.ErrBig}, {sample.Ask("1 / 0 + "+product, 9, 9, 1, 0), api.ErrBig},
+		{sample.Ask(`sum(count_over_time({a="x"}[1ms]) * `+great+")", 1, 1, 1, 0), api.OK}, {sample.Ask(`sum(count_over_time({a="x"}[1ms]) * `+great+")", 1, 2, 1, 0), api.ErrBig}, {sample.Ask(`count_over_time({a="x"}[1ms]) * `+great, 1, 2, 1, 0), api.OK}, {sample.Ask(`sum(sum(count_over_time({a="x"}[1ms]) * `+great+")) + 1", 2, 2, 1, 0), api.ErrBig},
 		{sample.Ask(many, 1, 1, 1, 0), api.OK}, {sample.Ask(many, 1, 2, 1, 0), api.ErrMany}, {sample.Ask("("+many+") + ("+product+")", 1, 2, 1, 0), api.ErrBig}, {sample.Ask("("+many+") + ("+product+")", 2, 2, 1, 0), api.ErrMany}, {sample.Ask("("+product+") + ("+many+")", 2, 2, 1, 0), api.ErrBig},
 	} {
 		if got := m.Ask(c.a); got.Err != c.e {

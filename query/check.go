@@ -230,12 +230,8 @@ func areNames(l []string) bool {
 	return len(l) <= mostNames
 }
 
-func isZeroNumber(v api.Rat) bool {
-	return !v.Neg && len(v.Num) == 0 && len(v.Den) == 0
-}
-
 func isZeroCond(c api.Cond) bool {
-	return c.Kind == 0 && c.Name == "" && c.Op == 0 && c.Text == "" && isZeroNumber(c.V) && len(c.L) == 0
+	return c.Kind == 0 && c.Name == "" && c.Op == 0 && c.Text == "" && rat.Same(c.V, api.Rat{}) && len(c.L) == 0
 }
 
 func isZeroExpr(x api.Expr) bool {

@@ -2,6 +2,7 @@ package query
 
 import (
 	"math/rand"
+	"slices"
 	"strconv"
 	"strings"
 	"testing"
@@ -210,6 +211,9 @@ func TestCheck(t *testing.T) {
 	}{
 		"20 deep": {chain(20), api.OK, 20}, "21 deep": {chain(21), api.ErrDepth, 21}, "21 deep and bad": {binary(99, chain(20), one), api.ErrDepth, 21}, "range 20 deep": {sums, api.OK, 20}, "range 21 deep": {vector(1, sums), api.ErrDepth, 21},
 		"condition 20 deep": {cond(deepCond(20)), api.OK, 1}, "condition 21 deep": {cond(deepCond(21)), api.ErrDepth, 1}, "condition 21 deep inside": {vector(1, ranged(1, cond(deepCond(21)))), api.ErrDepth, 3}, "bad and deep": {binary(11, api.Expr{}, ranged(1, cond(deepCond(21)))), api.ErrDepth, 3},
+		"16 matchers": {with(log(), func(x *api.Expr) { x.Matchers = slices.Repeat(x.Matchers, 16) }), api.OK, 1}, "17 matchers": {with(log(), func(x *api.Expr) { x.Matchers = slices.Repeat(x.Matchers, 17) }), api.ErrQuery, 1}, "16 stages": {log(slices.Repeat([]api.Stage{{Kind: 5}}, 16)...), api.OK, 1}, "17 stages": {log(slices.Repeat([]api.Stage{{Kind: 5}}, 17)...), api.ErrQuery, 1},
+		"shortest range": {with(rate, func(x *api.Expr) { x.Over = 1 }), api.OK, 2}, "longest range": {with(rate, func(x *api.Expr) { x.Over, x.Back = api.MaxNumber, api.MaxNumber }), api.OK, 2}, "topk 1000": {with(vector(6, one), func(x *api.Expr) { x.K = 1000 }), api.OK, 2}, "16 names": {with(vector(1, one), func(x *api.Expr) { x.Group, x.Names = 1, strings.Fields("a b c d e f g h i j k l m n o p") }), api.OK, 2}, "17 names": {with(vector(1, one), func(x *api.Expr) { x.Group, x.Names = 1, strings.Fields("a b c d e f g h i j k l m n o p q") }), api.ErrQuery, 2},
+		"texts of 256 bytes": {with(log(api.Stage{Kind: 1, Text: strings.Repeat("x", 256)}, api.Stage{Kind: 11, Name: "a", Text: strings.Repeat("x", 256)}), func(x *api.Expr) { x.Matchers[0].Value = strings.Repeat("x", 256) }), api.OK, 1}, "a number without digits": {cond(api.Cond{Kind: 1, Name: "a", Op: 1, V: api.Rat{Num: []uint32{1}}}), api.ErrQuery, 1}, "a sign alone": {cond(api.Cond{Kind: 1, Name: "a", Op: 1, V: api.Rat{Neg: true}}), api.ErrQuery, 1},
 		"4096 bytes": {fits, api.OK, 1}, "4097 bytes": {with(fits, func(x *api.Expr) { x.Stages[15].Text += "x" }), api.ErrLimit, 1}, "nothing": {api.Expr{}, api.ErrQuery, 1},
 	} {
 		s, e := Write(c.x)

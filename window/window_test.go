@@ -101,7 +101,7 @@ func TestErrors(t *testing.T) {
 		e  api.Errno
 	}{
 		{api.FnSum, "0", of(t, most, "-"+most, most), api.OK}, {api.FnSum, "0", of(t, most, most, "-"+most), api.ErrBig}, {api.FnSum, "0", of(t, third, seventh), api.OK}, {api.FnSum, "0", of(t, "1/7", seventh), api.ErrBig}, {api.FnSum, "0", of(t, "1/7", seventh, "-1/7"), api.ErrBig}, {api.FnSum, "0", of(t, "1/7", "-1/7", seventh), api.OK}, {api.FnAvg, "0", of(t, "1/7", seventh), api.ErrBig}, {api.FnAvg, "0", of(t, seventh, seventh, "0", "0", "0", "0", "0"), api.ErrBig}, {api.FnMax, "0", of(t, "1/7", seventh), api.OK},
-		{api.FnQuantile, "1/2", of(t, "1/7", seventh), api.ErrBig}, {api.FnQuantile, "1", of(t, "1/7", seventh), api.OK}, {api.FnQuantile, "1/2", of(t, "0", seventh, "1"), api.OK}, {api.FnQuantile, seventh, of(t, "0", "1"), api.OK}, {api.FnQuantile, seventh, of(t, "0", "0", "0", "0", "0", "0", "0", "0"), api.OK}, {api.FnQuantile, seventh, of(t, "0", "1/7"), api.ErrBig},
+		{api.FnQuantile, "1/2", of(t, "1/7", seventh), api.ErrBig}, {api.FnQuantile, "1", of(t, "1/7", seventh), api.OK}, {api.FnQuantile, "1/2", of(t, "0", seventh, "1"), api.OK}, {api.FnQuantile, seventh, of(t, "0", "1"), api.OK}, {api.FnQuantile, seventh, of(t, "0", "0", "0", "0", "0", "0", "0", "0"), api.OK}, {api.FnQuantile, seventh, of(t, "0", "1/7"), api.ErrBig}, {api.FnQuantile, most[:153] + "8/" + most, of(t, "0", "0"), api.OK}, {api.FnQuantile, most[:153] + "8/" + most, of(t, "0", "0", "0"), api.ErrBig},
 	} {
 		v, is, e := Run(c.fn, 1, value(t, c.q), c.l)
 		if e != c.e || is != (e == api.OK) || e != api.OK && !rat.Same(v, api.Rat{}) {
