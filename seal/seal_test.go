@@ -91,3 +91,35 @@ func TestBursts(t *testing.T) {
 		}
 	}
 }
+
+// TestChange holds the table that is filled once against the function by which sums are worked out, and both against the known table.
+func TestChange(t *testing.T) {
+	for range 2 {
+		for i := range 256 {
+			x := byte(i)
+			if got := Change(x); got != shifted(x) || got != crc32.IEEETable[x] {
+				t.Errorf("%d: %x, %x", x, got, shifted(x))
+			}
+		}
+	}
+}
+
+// TestTable checks who reads the table: Change does; Of, On, Put and Cut answer the same whatever is in it.
+func TestTable(t *testing.T) {
+	Change(0)
+	right := table
+	defer func() { table = right }()
+	for i := range table {
+		table[i] = ^right[i]
+	}
+	if Change(5) != ^right[5] || Change(255) != ^right[255] {
+		t.Error("Change does not read the table")
+	}
+	b := []byte("123456789")
+	if Of(b) != 0xCBF43926 || On(Of(b[:4]), b[4:]) != 0xCBF43926 || !bytes.Equal(Put(b), []byte("123456789\x26\x39\xF4\xCB")) {
+		t.Error("sums read the table")
+	}
+	if got, ok := Cut(Put(b)); !ok || !bytes.Equal(got, b) || !bytes.Equal(Row(258), []byte{2, 1, 0, 0}) {
+		t.Error("Cut or Row reads the table")
+	}
+}
